@@ -1,0 +1,224 @@
+package tests
+
+import (
+	"go/ast"
+	"go/parser"
+	"go/token"
+	"path/filepath"
+	"testing"
+)
+
+// source is a file of impl.
+type source struct {
+	name string
+	tree *ast.File
+}
+
+// sources returns all files of impl, in which the rules of the language are looked for.
+func sources(t *testing.T) (*token.FileSet, []source) {
+	t.Helper()
+	names, err := filepath.Glob("../impl/*.go")
+	if err != nil || len(names) == 0 {
+		t.Fatalf("no sources: %v", err)
+	}
+	files := token.NewFileSet()
+	var list []source
+	for _, name := range names {
+		tree, err := parser.ParseFile(files, name, nil, 0)
+		if err != nil {
+			t.Fatal(err)
+		}
+		list = append(list, source{filepath.Base(name), tree})
+	}
+	return files, list
+}
+
+// badNames are built-in names that the rules leave out: types, and functions that hang on capacity or leave the usual way.
+var badNames = map[string]bool{
+	"any": true, "error": true, "cap": true, "panic": true, "recover": true,
+	"float32": true, "float64": true, "complex64": true, "complex128": true,
+	"complex": true, "real": true, "imag": true,
+}
+
+func TestLanguage(t *testing.T) {
+	files, list := sources(t)
+	functions := functionNames(list)
+	for _, file := range list {
+		tell := func(node ast.Node, what string) {
+			t.Errorf("%s: %s", files.Position(node.Pos()), what)
+		}
+		if file.tree.Name.Name != "impl" {
+			tell(file.tree, "another package")
+		}
+		if len(file.tree.Imports) > 0 {
+			tell(file.tree, "an import")
+		}
+		checkTop(file.tree, tell)
+		ast.Inspect(file.tree, func(node ast.Node) bool {
+			if what := wrongNode(node); what != "" {
+				tell(node, what)
+			}
+			return true
+		})
+		checkValues(file.tree, functions, tell)
+	}
+}
+
+// functionNames returns the names of all functions and methods.
+func functionNames(list []source) map[string]bool {
+	names := map[string]bool{}
+	for _, file := range list {
+		for _, declared := range file.tree.Decls {
+			if function, ok := declared.(*ast.FuncDecl); ok {
+				names[function.Name.Name] = true
+			}
+		}
+	}
+	return names
+}
+
+// checkTop tells variables of the package, functions with parameters of types, and init.
+func checkTop(tree *ast.File, tell func(ast.Node, string)) {
+	for _, declared := range tree.Decls {
+		switch declared := declared.(type) {
+		case *ast.GenDecl:
+			if declared.Tok == token.VAR {
+				tell(declared, "a variable of the package")
+			}
+		case *ast.FuncDecl:
+			if declared.Name.Name == "init" {
+				tell(declared, "a function init")
+			}
+			if declared.Type.TypeParams != nil {
+				tell(declared, "a generic function")
+			}
+		}
+	}
+}
+
+// wrongNode tells what of the rules a node of the source breaks by itself; nothing if none.
+func wrongNode(node ast.Node) string {
+	switch node := node.(type) {
+	case *ast.InterfaceType, *ast.TypeSwitchStmt, *ast.TypeAssertExpr:
+		return "an interface"
+	case *ast.FuncLit:
+		return "a closure"
+	case *ast.MapType:
+		return "a map"
+	case *ast.ChanType, *ast.GoStmt, *ast.SelectStmt, *ast.SendStmt:
+		return "a channel or a goroutine"
+	case *ast.DeferStmt:
+		return "a defer"
+	case *ast.IndexListExpr:
+		return "a generic type"
+	case *ast.TypeSpec:
+		if node.TypeParams != nil {
+			return "a generic type"
+		}
+	case *ast.BranchStmt:
+		if node.Tok == token.GOTO {
+			return "a goto"
+		}
+	case *ast.BasicLit:
+		if node.Kind == token.FLOAT || node.Kind == token.IMAG {
+			return "a number that is not whole"
+		}
+	case *ast.SliceExpr:
+		if node.Slice3 {
+			return "a slice expression with three indexes"
+		}
+	case *ast.Ident:
+		if badNames[node.Name] {
+			return "the name " + node.Name
+		}
+	case *ast.BinaryExpr:
+		if isNil(node.X) || isNil(node.Y) {
+			return "a comparison with nil"
+		}
+	case *ast.AssignStmt:
+		if len(node.Lhs) > 1 && !allNames(node.Lhs) {
+			return "several values at once for elements or fields"
+		}
+	}
+	return ""
+}
+
+func isNil(node ast.Expr) bool {
+	name, ok := node.(*ast.Ident)
+	return ok && name.Name == "nil"
+}
+
+func allNames(nodes []ast.Expr) bool {
+	for _, node := range nodes {
+		if _, ok := node.(*ast.Ident); !ok {
+			return false
+		}
+	}
+	return true
+}
+
+// checkValues tells names of functions that are neither declared nor called where they stand, and types of functions without a declaration.
+func checkValues(tree *ast.File, functions map[string]bool, tell func(ast.Node, string)) {
+	right := map[ast.Node]bool{}
+	ast.Inspect(tree, func(node ast.Node) bool {
+		switch node := node.(type) {
+		case *ast.FuncDecl:
+			right[node.Name] = true
+			right[node.Type] = true
+		case *ast.CallExpr:
+			switch called := node.Fun.(type) {
+			case *ast.Ident:
+				right[called] = true
+			case *ast.SelectorExpr:
+				right[called.Sel] = true
+			}
+		}
+		return true
+	})
+	ast.Inspect(tree, func(node ast.Node) bool {
+		if name, ok := node.(*ast.Ident); ok && functions[name.Name] && !right[name] {
+			tell(name, "the function "+name.Name+" as a value")
+		}
+		if kind, ok := node.(*ast.FuncType); ok && !right[kind] {
+			tell(kind, "a type of functions")
+		}
+		return true
+	})
+}
+
+// operators returns which operators a file uses.
+func operators(tree *ast.File) map[token.Token]bool {
+	used := map[token.Token]bool{}
+	ast.Inspect(tree, func(node ast.Node) bool {
+		switch node := node.(type) {
+		case *ast.BinaryExpr:
+			used[node.Op] = true
+		case *ast.AssignStmt:
+			used[node.Tok] = true
+		}
+		return true
+	})
+	return used
+}
+
+// The way of chapter 1: nets are rows of bits, so sets are made and asked by shifts, and by bits in common.
+func TestWayOfNets(t *testing.T) {
+	_, list := sources(t)
+	found := false
+	for _, file := range list {
+		if file.name != "l1_nets.go" {
+			continue
+		}
+		found = true
+		used := operators(file.tree)
+		if !used[token.SHL] || !used[token.AND] {
+			t.Error("nets are not rows of bits")
+		}
+		if used[token.QUO] || used[token.REM] {
+			t.Error("sets are taken apart by division")
+		}
+	}
+	if !found {
+		t.Error("l1_nets.go is not here")
+	}
+}

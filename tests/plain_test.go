@@ -1,0 +1,193 @@
+package tests
+
+import "testing"
+
+// mostPlaces is MaxPlaces as the document has it: the tests do not follow impl, if it has another one.
+const mostPlaces = 6
+
+// The tests tell nets by tables of pairs, not by rows of bits, so that a slip with bits in impl is not made here, too.
+
+// pairTable says for each two places whether they are neighbours.
+type pairTable [][]bool
+
+// pairsOf returns the table of as many places in which the pairs are neighbours whose digits in code are 1.
+func pairsOf(places int, code int) pairTable {
+	table := make(pairTable, places)
+	for place := range table {
+		table[place] = make([]bool, places)
+	}
+	for place := 0; place < places; place++ {
+		for other := place + 1; other < places; other++ {
+			table[place][other] = code%2 == 1
+			table[other][place] = code%2 == 1
+			code /= 2
+		}
+	}
+	return table
+}
+
+// net returns the net of a table.
+func (table pairTable) net() []int {
+	net := make([]int, len(table))
+	for place := range table {
+		worth := 1
+		for other := range table {
+			if table[place][other] {
+				net[place] += worth
+			}
+			worth *= 2
+		}
+	}
+	return net
+}
+
+// wires returns the pairs of neighbours in ascending order.
+func (table pairTable) wires() [][2]int {
+	var wires [][2]int
+	for place := range table {
+		for other := place + 1; other < len(table); other++ {
+			if table[place][other] {
+				wires = append(wires, [2]int{place, other})
+			}
+		}
+	}
+	return wires
+}
+
+// nearMany returns how many neighbours a place has.
+func (table pairTable) nearMany(place int) int {
+	many := 0
+	for other := range table {
+		if table[place][other] {
+			many++
+		}
+	}
+	return many
+}
+
+// leasts returns for each place the least place of its part, by passing lesser ones on until nothing changes.
+func (table pairTable) leasts() []int {
+	least := make([]int, len(table))
+	for place := range least {
+		least[place] = place
+	}
+	for range table {
+		for place := range table {
+			for other := range table {
+				if table[place][other] && least[other] < least[place] {
+					least[place] = least[other]
+				}
+			}
+		}
+	}
+	return least
+}
+
+// parts returns how many parts there are.
+func (table pairTable) parts() int {
+	many := 0
+	for place, least := range table.leasts() {
+		if place == least {
+			many++
+		}
+	}
+	return many
+}
+
+// sides returns the side that has the least place of each part, found by trying all sets; -1 if there is none.
+func (table pairTable) sides() int {
+	least := table.leasts()
+	for set := 0; set < power(len(table)); set++ {
+		if table.isSide(set, least) {
+			return set
+		}
+	}
+	return -1
+}
+
+func (table pairTable) isSide(set int, least []int) bool {
+	for place := range table {
+		if least[place] == place && !inSet(set, place) {
+			return false
+		}
+		for other := range table {
+			if table[place][other] && inSet(set, place) == inSet(set, other) {
+				return false
+			}
+		}
+	}
+	return true
+}
+
+// power returns 2 multiplied so often, which is the number of all sets of so many places.
+func power(places int) int {
+	product := 1
+	for ; places > 0; places-- {
+		product *= 2
+	}
+	return product
+}
+
+// inSet reports whether a place is in a set told by a number.
+func inSet(set int, place int) bool {
+	return set/power(place)%2 == 1
+}
+
+// eachNet calls check with every net of 1..mostPlaces places, and its table.
+func eachNet(t *testing.T, check func(net []int, table pairTable)) {
+	t.Helper()
+	for places := 1; places <= mostPlaces; places++ {
+		for code := 0; code < power(places*(places-1)/2); code++ {
+			table := pairsOf(places, code)
+			check(table.net(), table)
+			if t.Failed() {
+				t.Fatalf("at the net %v", table.net())
+			}
+		}
+	}
+}
+
+// badNets returns what is no net, for each reason that there is.
+func badNets() [][]int {
+	most := int(^uint(0) >> 1)
+	return [][]int{
+		nil,
+		{},
+		make([]int, mostPlaces+1),
+		{2, 5, 10, 20, 40, 80, 32},
+		make([]int, 1000),
+		{1},
+		{3, 1},
+		{2, 3},
+		{2, 5, 14, 4},
+		{2, 5, 2, 4},
+		{2, 0},
+		{0, 1},
+		{6, 1, 0},
+		{4, 0, 0},
+		{2},
+		{2, 5},
+		{4, 0},
+		{64, 0, 0, 0, 0, 0},
+		{-1},
+		{-2, 1},
+		{2, -1},
+		{0, 0, -8},
+		{-most - 1, 0},
+		{most, most},
+		{2, 1, 1 << 40},
+	}
+}
+
+// sameList reports whether two lists have the same numbers.
+func sameList(a []int, b []int) bool {
+	if len(a) != len(b) {
+		return false
+	}
+	for at := range a {
+		if a[at] != b[at] {
+			return false
+		}
+	}
+	return true
+}
