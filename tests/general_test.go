@@ -17,6 +17,20 @@ func callNets(net []int) {
 	impl.SidesOf(net)
 }
 
+// callRows calls each function of chapter 2 that takes a net and a row.
+func callRows(net []int, row []int) {
+	impl.RowOk(net, row)
+	impl.RowOnceOk(net, row)
+	impl.Differences(net, row)
+	impl.Sums(net, row)
+}
+
+// callMoves calls each function of chapter 2 that takes a net, a row and a number.
+func callMoves(net []int, row []int, number int) {
+	impl.TurnedRow(net, row, number)
+	impl.MovedRow(net, row, number)
+}
+
 // callSafely tells a panic with the argument that made it.
 func callSafely(t *testing.T, net []int) {
 	t.Helper()
@@ -52,6 +66,44 @@ func TestNoFunctionPanics(t *testing.T) {
 	}
 }
 
+// callRowsSafely tells a panic with the arguments that made it.
+func callRowsSafely(t *testing.T, net []int, row []int, numbers []int) {
+	t.Helper()
+	told := 0
+	defer func() {
+		if what := recover(); what != nil {
+			t.Errorf("at %v, %v and one of %v: %v", net, row, numbers[told:], what)
+		}
+	}()
+	callRows(net, row)
+	for at, number := range numbers {
+		told = at
+		callMoves(net, row, number)
+	}
+}
+
+func TestNoFunctionOfRowsPanics(t *testing.T) {
+	most := int(^uint(0) >> 1)
+	odd := []int{-most - 1, -most, -31, -30, -1, 0, 1, 15, 30, 31, 32, 1 << 40, most - 1, most}
+	nets := append(badNets(), []int{0}, []int{0, 0}, []int{2, 1}, []int{6, 5, 3}, []int{2, 5, 10, 4}, []int{16, 8, 0, 2, 1}, []int{62, 61, 59, 55, 47, 31})
+	for _, net := range nets {
+		for places := 0; places <= mostPlaces+2; places++ {
+			for _, first := range odd {
+				for _, last := range odd {
+					row := make([]int, places)
+					for place := range row {
+						row[place] = first
+					}
+					if places > 0 {
+						row[places-1] = last
+					}
+					callRowsSafely(t, net, row, odd)
+				}
+			}
+		}
+	}
+}
+
 // A mark behind the end of an argument shows a write into its spare capacity.
 const mark = 77
 
@@ -66,6 +118,45 @@ func TestNoFunctionWritesIntoArguments(t *testing.T) {
 	eachNet(t, func(net []int, table pairTable) { check(net) })
 	for _, net := range badNets() {
 		check(net)
+	}
+}
+
+// roomy returns a list with marks in its spare capacity.
+func roomy(list []int) []int {
+	room := append(append([]int{}, list...), mark, mark)
+	return room[:len(list)]
+}
+
+// untouched reports whether a list that roomy returned has the same numbers and marks still.
+func untouched(room []int, list []int) bool {
+	behind := room[len(room) : len(room)+2]
+	return sameList(room, list) && behind[0] == mark && behind[1] == mark
+}
+
+func TestNoFunctionOfRowsWritesIntoArguments(t *testing.T) {
+	check := func(net []int, row []int) {
+		netRoom := roomy(net)
+		rowRoom := roomy(row)
+		callRows(netRoom, rowRoom)
+		for _, number := range []int{-31, -30, -3, -1, 0, 1, 3, 17, 30, 31} {
+			callMoves(netRoom, rowRoom, number)
+		}
+		if !untouched(netRoom, net) || !untouched(rowRoom, row) {
+			t.Errorf("%v or %v was written into: %v and %v", net, row, netRoom, rowRoom)
+		}
+	}
+	eachSmallNet(t, func(net []int) {
+		for _, row := range rowsOf(len(net)) {
+			check(net, row)
+			check(net, row[:len(row)-1])
+			check(net, append([]int{31}, row...))
+			row[len(row)-1] = -1
+			check(net, row)
+		}
+	})
+	for _, net := range badNets() {
+		check(net, make([]int, len(net)))
+		check(net, []int{3, 1, 2})
 	}
 }
 
@@ -112,6 +203,59 @@ func TestResultsAreNewMemory(t *testing.T) {
 	}
 }
 
+// rowAnswers returns all lists that chapter 2 returns for a net, a row and a number.
+func rowAnswers(net []int, row []int, number int) [][]int {
+	return [][]int{
+		impl.Differences(net, row),
+		impl.Sums(net, row),
+		impl.TurnedRow(net, row, number),
+		impl.MovedRow(net, row, number),
+	}
+}
+
+// sameLists reports whether two lists of lists have the same numbers, but for the lists ahead of one of them.
+func sameLists(a [][]int, b [][]int, from int) bool {
+	if len(a) != len(b) {
+		return false
+	}
+	for at := from; at < len(a); at++ {
+		if !sameList(a[at], b[at]) {
+			return false
+		}
+	}
+	return true
+}
+
+func TestResultsOfRowsAreNewMemory(t *testing.T) {
+	check := func(net []int, row []int, number int) {
+		netRoom := roomy(net)
+		rowRoom := roomy(row)
+		want := rowAnswers(net, row, number)
+		first := rowAnswers(netRoom, rowRoom, number)
+		second := rowAnswers(netRoom, rowRoom, number)
+		for at := range first {
+			spoil(first[at])
+			if !sameLists(first, want, at+1) || !sameLists(second, want, 0) {
+				t.Errorf("at %v, %v and %d the answer %d shares memory with another one", net, row, number, at)
+			}
+			if !untouched(netRoom, net) || !untouched(rowRoom, row) {
+				t.Errorf("at %v, %v and %d the answer %d shares memory with an argument", net, row, number, at)
+			}
+		}
+	}
+	eachSmallNet(t, func(net []int) {
+		for _, row := range rowsOf(len(net)) {
+			for _, number := range []int{-3, 0, 1, greatest(row), mostLabel} {
+				check(net, row, number)
+			}
+		}
+	})
+	// A row that is the same turned, or moved by 0, is new memory still.
+	check([]int{2, 1}, []int{15, 15}, mostLabel)
+	check([]int{2, 5, 10, 4}, []int{0, 0, 0, 0}, 0)
+	check([]int{62, 61, 59, 55, 47, 31}, []int{0, 1, 3, 7, 12, 20}, 0)
+}
+
 // What was asked before must not change an answer.
 func TestNoStateBetweenCalls(t *testing.T) {
 	path := []int{2, 5, 10, 4}
@@ -120,6 +264,15 @@ func TestNoStateBetweenCalls(t *testing.T) {
 		callNets(triangle)
 		if impl.SidesOf(path) != 5 || impl.PartMany(path) != 1 || impl.WiresOf(path) != 3 {
 			t.Errorf("the turn %d answers otherwise", turn)
+		}
+		row := []int{0, 3, 1, 2}
+		if !impl.RowOnceOk(path, row) || impl.RowOnceOk(path, []int{0, 3, 1, 3}) || !impl.RowOnceOk(triangle, []int{3, 0, 2}) {
+			t.Errorf("rows of the turn %d are told otherwise", turn)
+		}
+		callRows(triangle, row)
+		callMoves(triangle, row, 3)
+		if !sameList(impl.Differences(path, row), []int{3, 2, 1}) || !sameList(impl.TurnedRow(path, row, 3), []int{3, 0, 2, 1}) {
+			t.Errorf("rows of the turn %d are answered otherwise", turn)
 		}
 		callNets(nil)
 		if impl.SidesOf(triangle) != -1 || impl.MostNear(triangle) != 2 || impl.TreeOk(triangle) {

@@ -201,24 +201,97 @@ func operators(tree *ast.File) map[token.Token]bool {
 	return used
 }
 
-// The way of chapter 1: nets are rows of bits, so sets are made and asked by shifts, and by bits in common.
-func TestWayOfNets(t *testing.T) {
+// sourceOf returns the file of a chapter.
+func sourceOf(t *testing.T, name string) *ast.File {
+	t.Helper()
 	_, list := sources(t)
-	found := false
 	for _, file := range list {
-		if file.name != "l1_nets.go" {
-			continue
-		}
-		found = true
-		used := operators(file.tree)
-		if !used[token.SHL] || !used[token.AND] {
-			t.Error("nets are not rows of bits")
-		}
-		if used[token.QUO] || used[token.REM] {
-			t.Error("sets are taken apart by division")
+		if file.name == name {
+			return file.tree
 		}
 	}
-	if !found {
-		t.Error("l1_nets.go is not here")
+	t.Fatalf("%s is not here", name)
+	return nil
+}
+
+// The way of chapter 1: nets are rows of bits, so sets are made and asked by shifts, and by bits in common.
+func TestWayOfNets(t *testing.T) {
+	used := operators(sourceOf(t, "l1_nets.go"))
+	if !used[token.SHL] || !used[token.AND] {
+		t.Error("nets are not rows of bits")
+	}
+	if used[token.QUO] || used[token.REM] {
+		t.Error("sets are taken apart by division")
+	}
+}
+
+// calls reports whether a function is called by its name in a part of the source.
+func calls(part ast.Node, name string) bool {
+	found := false
+	ast.Inspect(part, func(node ast.Node) bool {
+		if call, ok := node.(*ast.CallExpr); ok {
+			called, ok := call.Fun.(*ast.Ident)
+			found = found || ok && called.Name == name
+		}
+		return true
+	})
+	return found
+}
+
+// functionOf returns a function of a file.
+func functionOf(t *testing.T, tree *ast.File, name string) *ast.FuncDecl {
+	t.Helper()
+	for _, declared := range tree.Decls {
+		if function, ok := declared.(*ast.FuncDecl); ok && function.Name.Name == name {
+			return function
+		}
+	}
+	t.Fatalf("%s is not here", name)
+	return nil
+}
+
+// loopsWithin returns how many loops stand one in the other at most.
+func loopsWithin(part ast.Node) int {
+	most := 0
+	ast.Inspect(part, func(node ast.Node) bool {
+		switch node := node.(type) {
+		case *ast.ForStmt:
+			most = max(most, 1+loopsWithin(node.Body))
+			return false
+		case *ast.RangeStmt:
+			most = max(most, 1+loopsWithin(node.Body))
+			return false
+		}
+		return true
+	})
+	return most
+}
+
+// countsUp reports whether a number of a table is counted up by one.
+func countsUp(part ast.Node) bool {
+	found := false
+	ast.Inspect(part, func(node ast.Node) bool {
+		if step, ok := node.(*ast.IncDecStmt); ok && step.Tok == token.INC {
+			_, ok := step.X.(*ast.IndexExpr)
+			found = found || ok
+		}
+		return true
+	})
+	return found
+}
+
+// The way of chapter 2: numbers are counted in a table, not compared two by two; wires are gone through in the order of WireList, not looked for among the places.
+func TestWayOfRows(t *testing.T) {
+	tree := sourceOf(t, "l2_rows.go")
+	if !countsUp(tree) {
+		t.Error("numbers are not counted in a table")
+	}
+	if most := loopsWithin(tree); most > 1 {
+		t.Errorf("%d loops stand one in the other", most)
+	}
+	for _, name := range []string{"Differences", "Sums"} {
+		if !calls(functionOf(t, tree, name), "WireList") {
+			t.Errorf("%s does not go through the wires", name)
+		}
 	}
 }

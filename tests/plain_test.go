@@ -5,6 +5,9 @@ import "testing"
 // mostPlaces is MaxPlaces as the document has it: the tests do not follow impl, if it has another one.
 const mostPlaces = 6
 
+// mostLabel is MostLabel as the document has it.
+const mostLabel = 30
+
 // The tests tell nets by tables of pairs, not by rows of bits, so that a slip with bits in impl is not made here, too.
 
 // pairTable says for each two places whether they are neighbours.
@@ -190,4 +193,100 @@ func sameList(a []int, b []int) bool {
 		}
 	}
 	return true
+}
+
+// rowsOf returns rows of a net of so many places: noughts, the ends of 0..mostLabel, numbers up and down, with and without like ones, near to an end and far from both.
+func rowsOf(places int) [][]int {
+	whole := [][]int{
+		{0, 0, 0, 0, 0, 0},
+		{30, 30, 30, 30, 30, 30},
+		{30, 0, 30, 0, 30, 0},
+		{0, 1, 2, 3, 4, 5},
+		{30, 29, 28, 27, 26, 25},
+		{3, 9, 27, 19, 26, 16},
+		{7, 11, 7, 22, 11, 7},
+		{0, 12, 30, 5, 17, 12},
+	}
+	rows := make([][]int, len(whole))
+	for at := range whole {
+		rows[at] = append([]int{}, whole[at][:places]...)
+	}
+	return rows
+}
+
+// numbersAround returns all numbers by which rows are turned or moved, some more on both sides, and the ends of what an int holds.
+func numbersAround() []int {
+	most := int(^uint(0) >> 1)
+	numbers := []int{-most - 1, -most, -most + mostLabel, -1 << 32, 1 << 32, most - mostLabel, most - 1, most}
+	for number := -mostLabel - 3; number <= mostLabel+3; number++ {
+		numbers = append(numbers, number)
+	}
+	return numbers
+}
+
+// least returns the least number of a row that is not empty.
+func least(row []int) int {
+	found := row[0]
+	for _, number := range row {
+		found = min(found, number)
+	}
+	return found
+}
+
+// greatest returns the greatest number of a row that is not empty.
+func greatest(row []int) int {
+	found := row[0]
+	for _, number := range row {
+		found = max(found, number)
+	}
+	return found
+}
+
+// unlike reports whether no two numbers of a row are the same, by comparing each two.
+func unlike(row []int) bool {
+	for place := range row {
+		for other := range row[:place] {
+			if row[place] == row[other] {
+				return false
+			}
+		}
+	}
+	return true
+}
+
+// differencesOf returns for each pair of neighbours the greater number less the lesser one.
+func differencesOf(table pairTable, row []int) []int {
+	var list []int
+	for _, wire := range table.wires() {
+		a, b := row[wire[0]], row[wire[1]]
+		list = append(list, max(a, b)-min(a, b))
+	}
+	return list
+}
+
+// sumsOf returns for each pair of neighbours the sum of both numbers.
+func sumsOf(table pairTable, row []int) []int {
+	var list []int
+	for _, wire := range table.wires() {
+		list = append(list, row[wire[0]]+row[wire[1]])
+	}
+	return list
+}
+
+// turnedOf returns a row with each number taken from most.
+func turnedOf(row []int, most int) []int {
+	var list []int
+	for _, number := range row {
+		list = append(list, most-number)
+	}
+	return list
+}
+
+// movedOf returns a row with each number more by a number.
+func movedOf(row []int, by int) []int {
+	var list []int
+	for _, number := range row {
+		list = append(list, number+by)
+	}
+	return list
 }
