@@ -31,6 +31,14 @@ func callMoves(net []int, row []int, number int) {
 	impl.MovedRow(net, row, number)
 }
 
+// callGraceful calls each function of chapter 3 that takes a net.
+func callGraceful(net []int) {
+	impl.GracefulRows(net)
+	impl.GracefulMany(net)
+	impl.GracefulFirst(net)
+	impl.EvenOk(net)
+}
+
 // callSafely tells a panic with the argument that made it.
 func callSafely(t *testing.T, net []int) {
 	t.Helper()
@@ -40,6 +48,7 @@ func callSafely(t *testing.T, net []int) {
 		}
 	}()
 	callNets(net)
+	callGraceful(net)
 }
 
 func TestNoFunctionPanics(t *testing.T) {
@@ -76,6 +85,7 @@ func callRowsSafely(t *testing.T, net []int, row []int, numbers []int) {
 		}
 	}()
 	callRows(net, row)
+	impl.GracefulOk(net, row)
 	for at, number := range numbers {
 		told = at
 		callMoves(net, row, number)
@@ -157,6 +167,33 @@ func TestNoFunctionOfRowsWritesIntoArguments(t *testing.T) {
 	for _, net := range badNets() {
 		check(net, make([]int, len(net)))
 		check(net, []int{3, 1, 2})
+	}
+}
+
+func TestNoFunctionOfGracefulRowsWritesIntoArguments(t *testing.T) {
+	check := func(net []int, rows [][]int) {
+		netRoom := roomy(net)
+		callGraceful(netRoom)
+		for _, row := range rows {
+			rowRoom := roomy(row)
+			impl.GracefulOk(netRoom, rowRoom)
+			if !untouched(rowRoom, row) {
+				t.Errorf("%v was written into: %v", row, rowRoom)
+			}
+		}
+		if !untouched(netRoom, net) {
+			t.Errorf("%v was written into: %v", net, netRoom)
+		}
+	}
+	eachKindOfNet(t, func(net []int, table pairTable) {
+		rows := append(rowsOf(len(net)), make([]int, len(net)+1), []int{-1})
+		if first, ok := impl.GracefulFirst(net); ok {
+			rows = append(rows, first)
+		}
+		check(net, rows)
+	})
+	for _, net := range badNets() {
+		check(net, [][]int{make([]int, len(net)), {3, 1, 2}})
 	}
 }
 
@@ -256,6 +293,34 @@ func TestResultsOfRowsAreNewMemory(t *testing.T) {
 	check([]int{62, 61, 59, 55, 47, 31}, []int{0, 1, 3, 7, 12, 20}, 0)
 }
 
+func TestResultsOfGracefulRowsAreNewMemory(t *testing.T) {
+	nets := [][]int{{0}, {2, 1}, {6, 5, 3}, {2, 5, 10, 4}, {10, 5, 10, 5}, {14, 13, 11, 7}, {2, 5, 10, 20, 8}, {6, 5, 3, 0}, {2, 5, 10, 20, 40, 16}}
+	for _, net := range nets {
+		netRoom := roomy(net)
+		want := gracefulRowsOf(tableOfNet(net))
+		kept := impl.GracefulRows(netRoom)
+		keptFirst, _ := impl.GracefulFirst(netRoom)
+		rows := impl.GracefulRows(netRoom)
+		for at := range rows {
+			spoil(rows[at])
+			if !sameLists(rows, want, at+1) {
+				t.Errorf("at %v the row %d shares memory with another one", net, at)
+			}
+		}
+		first, _ := impl.GracefulFirst(netRoom)
+		spoil(first)
+		if again, _ := impl.GracefulFirst(netRoom); !sameList(again, want[0]) || !sameList(keptFirst, want[0]) {
+			t.Errorf("at %v the first rows of two answers share memory", net)
+		}
+		if !sameLists(kept, want, 0) || !sameLists(impl.GracefulRows(netRoom), want, 0) {
+			t.Errorf("at %v the rows of two answers share memory", net)
+		}
+		if !untouched(netRoom, net) {
+			t.Errorf("rows share memory with the net: %v", netRoom)
+		}
+	}
+}
+
 // What was asked before must not change an answer.
 func TestNoStateBetweenCalls(t *testing.T) {
 	path := []int{2, 5, 10, 4}
@@ -274,7 +339,13 @@ func TestNoStateBetweenCalls(t *testing.T) {
 		if !sameList(impl.Differences(path, row), []int{3, 2, 1}) || !sameList(impl.TurnedRow(path, row, 3), []int{3, 0, 2, 1}) {
 			t.Errorf("rows of the turn %d are answered otherwise", turn)
 		}
+		callGraceful(triangle)
+		impl.GracefulOk(path, []int{0, 3, 2, 1})
+		if first, ok := impl.GracefulFirst(path); !ok || !sameList(first, row) || impl.GracefulMany(path) != 4 || !impl.GracefulOk(path, row) {
+			t.Errorf("graceful rows of the turn %d are told otherwise", turn)
+		}
 		callNets(nil)
+		callGraceful(nil)
 		if impl.SidesOf(triangle) != -1 || impl.MostNear(triangle) != 2 || impl.TreeOk(triangle) {
 			t.Errorf("the turn %d answers otherwise", turn)
 		}

@@ -295,3 +295,38 @@ func TestWayOfRows(t *testing.T) {
 		}
 	}
 }
+
+// callsItself reports whether a function of a file calls itself by its name.
+func callsItself(tree *ast.File) bool {
+	for _, declared := range tree.Decls {
+		if function, ok := declared.(*ast.FuncDecl); ok && function.Body != nil && calls(function.Body, function.Name.Name) {
+			return true
+		}
+	}
+	return false
+}
+
+// marks reports whether a mark is put: a bit more, or true in a table.
+func marks(tree *ast.File) bool {
+	found := operators(tree)[token.OR_ASSIGN]
+	ast.Inspect(tree, func(node ast.Node) bool {
+		if step, ok := node.(*ast.AssignStmt); ok && len(step.Lhs) == 1 {
+			_, table := step.Lhs[0].(*ast.IndexExpr)
+			name, ok := step.Rhs[0].(*ast.Ident)
+			found = found || table && ok && name.Name == "true"
+		}
+		return true
+	})
+	return found
+}
+
+// The way of chapter 3: numbers are given place by place, each one by a call from the one ahead of it, and differences that came are marked.
+func TestWayOfGracefulRows(t *testing.T) {
+	tree := sourceOf(t, "l3_graceful.go")
+	if !callsItself(tree) {
+		t.Error("numbers are not given place by place")
+	}
+	if !marks(tree) {
+		t.Error("differences that came are not marked")
+	}
+}

@@ -139,7 +139,13 @@ func inSet(set int, place int) bool {
 // eachNet calls check with every net of 1..mostPlaces places, and its table.
 func eachNet(t *testing.T, check func(net []int, table pairTable)) {
 	t.Helper()
-	for places := 1; places <= mostPlaces; places++ {
+	eachNetUpTo(t, mostPlaces, check)
+}
+
+// eachNetUpTo calls check with every net of 1..most places, and its table.
+func eachNetUpTo(t *testing.T, most int, check func(net []int, table pairTable)) {
+	t.Helper()
+	for places := 1; places <= most; places++ {
 		for code := 0; code < power(places*(places-1)/2); code++ {
 			table := pairsOf(places, code)
 			check(table.net(), table)
@@ -289,4 +295,146 @@ func movedOf(row []int, by int) []int {
 		list = append(list, number+by)
 	}
 	return list
+}
+
+// isGraceful reports whether the numbers of a row are unlike and in 0..the number of wires, and for each of 1..that number there is just one wire with this difference.
+func isGraceful(wires [][2]int, row []int) bool {
+	if least(row) < 0 || greatest(row) > len(wires) || !unlike(row) {
+		return false
+	}
+	for difference := len(wires); difference >= 1; difference-- {
+		many := 0
+		for _, wire := range wires {
+			a, b := row[wire[0]], row[wire[1]]
+			if max(a, b)-min(a, b) == difference {
+				many++
+			}
+		}
+		if many != 1 {
+			return false
+		}
+	}
+	return true
+}
+
+// eachUnlikeRow calls check with every row of so many unlike numbers in 0..most, in ascending order.
+func eachUnlikeRow(places int, most int, check func(row []int)) {
+	row := make([]int, 0, places)
+	used := make([]bool, most+1)
+	var goOn func()
+	goOn = func() {
+		if len(row) == places {
+			check(row)
+			return
+		}
+		for number := range used {
+			if used[number] {
+				continue
+			}
+			used[number] = true
+			row = append(row, number)
+			goOn()
+			row = row[:len(row)-1]
+			used[number] = false
+		}
+	}
+	goOn()
+}
+
+// gracefulRowsOf returns all graceful rows of a table in ascending order, found by trying all rows.
+func gracefulRowsOf(table pairTable) [][]int {
+	wires := table.wires()
+	var rows [][]int
+	eachUnlikeRow(len(table), len(wires), func(row []int) {
+		if isGraceful(wires, row) {
+			rows = append(rows, append([]int{}, row...))
+		}
+	})
+	return rows
+}
+
+// isEven reports whether each place has an even number of neighbours.
+func (table pairTable) isEven() bool {
+	for place := range table {
+		if table.nearMany(place)%2 == 1 {
+			return false
+		}
+	}
+	return true
+}
+
+// renamed returns the table in which each place is called as an order of all places says.
+func (table pairTable) renamed(order []int) pairTable {
+	other := pairsOf(len(table), 0)
+	for _, wire := range table.wires() {
+		a, b := order[wire[0]], order[wire[1]]
+		other[a][b] = true
+		other[b][a] = true
+	}
+	return other
+}
+
+// renamedRow returns the row in which each number is at the place as an order of all places says.
+func renamedRow(row []int, order []int) []int {
+	other := make([]int, len(row))
+	for place := range row {
+		other[order[place]] = row[place]
+	}
+	return other
+}
+
+// kindsOf returns one table of so many places of each kind: no two of them are the same with their places renamed, and each other one is one of them with its places renamed.
+func kindsOf(places int) []pairTable {
+	var kinds []pairTable
+	told := map[[mostPlaces]int]bool{}
+	for code := 0; code < power(places*(places-1)/2); code++ {
+		table := pairsOf(places, code)
+		if told[keyOf(table)] {
+			continue
+		}
+		kinds = append(kinds, table)
+		eachUnlikeRow(places, places-1, func(order []int) {
+			told[keyOf(table.renamed(order))] = true
+		})
+	}
+	return kinds
+}
+
+// keyOf returns the net of a table as a key of a map.
+func keyOf(table pairTable) [mostPlaces]int {
+	var key [mostPlaces]int
+	copy(key[:], table.net())
+	return key
+}
+
+// eachKindOfNet calls check with every net of less than mostPlaces places, and one of each kind of mostPlaces places, and its table: of so few nets all rows can be gone through.
+func eachKindOfNet(t *testing.T, check func(net []int, table pairTable)) {
+	t.Helper()
+	eachNetUpTo(t, mostPlaces-1, check)
+	for _, table := range kindsOf(mostPlaces) {
+		check(table.net(), table)
+		if t.Failed() {
+			t.Fatalf("at the net %v", table.net())
+		}
+	}
+}
+
+// ascends reports whether each of some rows comes behind the one ahead of it, by the first numbers that differ.
+func ascends(rows [][]int) bool {
+	for at := 1; at < len(rows); at++ {
+		if !comesAhead(rows[at-1], rows[at]) {
+			return false
+		}
+	}
+	return true
+}
+
+// comesAhead reports whether one row of as many numbers comes ahead of another one.
+func comesAhead(a []int, b []int) bool {
+	for at := range a {
+		if a[at] != b[at] {
+			return a[at] < b[at]
+		}
+	}
+	return false
 }
