@@ -39,6 +39,15 @@ func callGraceful(net []int) {
 	impl.EvenOk(net)
 }
 
+// callCaterpillars calls each function of chapter 4.
+func callCaterpillars(net []int) {
+	impl.CaterpillarOk(net)
+	impl.Backbone(net)
+	impl.TwoColumns(net)
+	impl.CaterpillarRow(net)
+	impl.LegsOf(net)
+}
+
 // callSafely tells a panic with the argument that made it.
 func callSafely(t *testing.T, net []int) {
 	t.Helper()
@@ -49,6 +58,7 @@ func callSafely(t *testing.T, net []int) {
 	}()
 	callNets(net)
 	callGraceful(net)
+	callCaterpillars(net)
 }
 
 func TestNoFunctionPanics(t *testing.T) {
@@ -72,6 +82,33 @@ func TestNoFunctionPanics(t *testing.T) {
 		for _, places := range odd {
 			impl.ShapeNet(kind, places)
 		}
+	}
+}
+
+func TestNoFunctionOfCaterpillarsPanics(t *testing.T) {
+	safely := func(net []int) {
+		defer func() {
+			if told := recover(); told != nil {
+				t.Errorf("at %v: %v", net, told)
+			}
+		}()
+		callCaterpillars(net)
+	}
+	eachNet(t, func(net []int, table pairTable) { safely(net) })
+	for _, net := range badNets() {
+		safely(net)
+	}
+	// Trees of more places than there may be, up to more than a set has bits.
+	for places := mostPlaces + 1; places <= 70; places++ {
+		path, star := make([]int, places), make([]int, places)
+		for place := 1; place < places; place++ {
+			path[place-1] |= 1 << place
+			path[place] |= 1 << (place - 1)
+			star[0] |= 1 << place
+			star[place] = 1
+		}
+		safely(path)
+		safely(star)
 	}
 }
 
@@ -194,6 +231,20 @@ func TestNoFunctionOfGracefulRowsWritesIntoArguments(t *testing.T) {
 	})
 	for _, net := range badNets() {
 		check(net, [][]int{make([]int, len(net)), {3, 1, 2}})
+	}
+}
+
+func TestNoFunctionOfCaterpillarsWritesIntoArguments(t *testing.T) {
+	check := func(net []int) {
+		room := roomy(net)
+		callCaterpillars(room)
+		if !untouched(room, net) {
+			t.Errorf("%v was written into: %v", net, room)
+		}
+	}
+	eachNet(t, func(net []int, table pairTable) { check(net) })
+	for _, net := range badNets() {
+		check(net)
 	}
 }
 
@@ -321,6 +372,35 @@ func TestResultsOfGracefulRowsAreNewMemory(t *testing.T) {
 	}
 }
 
+// treeAnswers returns all lists that chapter 4 returns for a net.
+func treeAnswers(net []int) [][]int {
+	first, second := impl.TwoColumns(net)
+	return [][]int{impl.Backbone(net), first, second, impl.CaterpillarRow(net)}
+}
+
+func TestResultsOfCaterpillarsAreNewMemory(t *testing.T) {
+	eachTree(t, func(net []int, table pairTable) {
+		room := roomy(net)
+		want := treeAnswers(net)
+		kept := treeAnswers(room)
+		for spoilt := range want {
+			answers := treeAnswers(room)
+			spoil(answers[spoilt])
+			for at := range answers {
+				if at != spoilt && !sameList(answers[at], want[at]) {
+					t.Errorf("the lists %d and %d share memory", spoilt, at)
+				}
+			}
+		}
+		if !sameLists(kept, want, 0) || !sameLists(treeAnswers(room), want, 0) {
+			t.Error("lists of two answers share memory")
+		}
+		if !untouched(room, net) {
+			t.Errorf("lists share memory with the net: %v", room)
+		}
+	})
+}
+
 // What was asked before must not change an answer.
 func TestNoStateBetweenCalls(t *testing.T) {
 	path := []int{2, 5, 10, 4}
@@ -344,8 +424,14 @@ func TestNoStateBetweenCalls(t *testing.T) {
 		if first, ok := impl.GracefulFirst(path); !ok || !sameList(first, row) || impl.GracefulMany(path) != 4 || !impl.GracefulOk(path, row) {
 			t.Errorf("graceful rows of the turn %d are told otherwise", turn)
 		}
+		callCaterpillars(impl.ShapeNet(2, 6))
+		callCaterpillars(triangle)
+		if !sameList(impl.Backbone(path), []int{1, 2}) || !sameList(impl.CaterpillarRow(path), []int{3, 0, 2, 1}) || impl.LegsOf(path) != 2 {
+			t.Errorf("caterpillars of the turn %d are told otherwise", turn)
+		}
 		callNets(nil)
 		callGraceful(nil)
+		callCaterpillars(nil)
 		if impl.SidesOf(triangle) != -1 || impl.MostNear(triangle) != 2 || impl.TreeOk(triangle) {
 			t.Errorf("the turn %d answers otherwise", turn)
 		}

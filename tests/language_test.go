@@ -330,3 +330,22 @@ func TestWayOfGracefulRows(t *testing.T) {
 		t.Error("differences that came are not marked")
 	}
 }
+
+// The way of chapter 4: columns are made from the backbone, and rows from the columns, without any search.
+func TestWayOfCaterpillars(t *testing.T) {
+	tree := sourceOf(t, "l4_caterpillars.go")
+	if !calls(functionOf(t, tree, "TwoColumns"), "Backbone") {
+		t.Error("legs are not put down beside the backbone")
+	}
+	if !calls(functionOf(t, tree, "CaterpillarRow"), "TwoColumns") {
+		t.Error("rows are not made from the columns")
+	}
+	if callsItself(tree) {
+		t.Error("places are looked for by trying")
+	}
+	for _, name := range []string{"GracefulOk", "GracefulRows", "GracefulFirst", "GracefulMany", "rowsFrom"} {
+		if calls(tree, name) {
+			t.Errorf("rows are looked for by %s", name)
+		}
+	}
+}

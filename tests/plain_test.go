@@ -1,6 +1,9 @@
 package tests
 
-import "testing"
+import (
+	"sort"
+	"testing"
+)
 
 // mostPlaces is MaxPlaces as the document has it: the tests do not follow impl, if it has another one.
 const mostPlaces = 6
@@ -437,4 +440,103 @@ func comesAhead(a []int, b []int) bool {
 		}
 	}
 	return false
+}
+
+// isTree reports whether a table is one part, with one pair of neighbours less than places.
+func (table pairTable) isTree() bool {
+	return table.parts() == 1 && len(table.wires()) == len(table)-1
+}
+
+// backboneOf returns the backbone of a tree, found by trying all orders of the places with two neighbours or more, the least ones first; nil if none of them is a path.
+func backboneOf(table pairTable) []int {
+	var inner []int
+	for place := range table {
+		if table.nearMany(place) > 1 {
+			inner = append(inner, place)
+		}
+	}
+	if len(inner) == 0 {
+		return []int{0}
+	}
+	var found []int
+	eachUnlikeRow(len(inner), len(inner)-1, func(order []int) {
+		var path []int
+		for _, at := range order {
+			path = append(path, inner[at])
+		}
+		if len(found) == 0 && table.isPath(path) {
+			found = path
+		}
+	})
+	return found
+}
+
+// isPath reports whether each place but the first one is a neighbour of the one ahead of it.
+func (table pairTable) isPath(places []int) bool {
+	for at := 1; at < len(places); at++ {
+		if !table[places[at-1]][places[at]] {
+			return false
+		}
+	}
+	return true
+}
+
+// columnsOf returns the two columns of a tree with a backbone: each place is put by an earlier one of the backbone, or, if it is the first one of it, by none; those put by the same one stand with its legs ahead, and the next one of the backbone behind.
+func columnsOf(table pairTable, backbone []int) ([]int, []int) {
+	type stand struct{ by, leg, place int }
+	var columns [2][]stand
+	for at, place := range backbone {
+		columns[at%2] = append(columns[at%2], stand{at - 1, 1, place})
+		for other := range table {
+			if table[place][other] && !hasNumber(backbone, other) {
+				columns[(at+1)%2] = append(columns[(at+1)%2], stand{at, 0, other})
+			}
+		}
+	}
+	var lists [2][]int
+	for at, column := range columns {
+		sort.Slice(column, func(a, b int) bool {
+			first, second := column[a], column[b]
+			return comesAhead([]int{first.by, first.leg, first.place}, []int{second.by, second.leg, second.place})
+		})
+		for _, one := range column {
+			lists[at] = append(lists[at], one.place)
+		}
+	}
+	return lists[0], lists[1]
+}
+
+// hasNumber reports whether a number is in a list.
+func hasNumber(list []int, number int) bool {
+	for _, one := range list {
+		if one == number {
+			return true
+		}
+	}
+	return false
+}
+
+// rowOfColumns returns the row that numbers the places of the first column from 0 up, and those of the second one downward from the last number: together they have all numbers from 0 on, as one finds them going down the first column and up the second one.
+func rowOfColumns(first []int, second []int) []int {
+	row := make([]int, len(first)+len(second))
+	number := 0
+	for _, place := range first {
+		row[place] = number
+		number++
+	}
+	for at := len(second) - 1; at >= 0; at-- {
+		row[second[at]] = number
+		number++
+	}
+	return row
+}
+
+// eachTree calls check with every net of 1..mostPlaces places that is a tree, and its table.
+func eachTree(t *testing.T, check func(net []int, table pairTable)) {
+	t.Helper()
+	eachNet(t, func(net []int, table pairTable) {
+		if table.isTree() {
+			check(net, table)
+		}
+	})
 }
