@@ -48,6 +48,12 @@ func callCaterpillars(net []int) {
 	impl.LegsOf(net)
 }
 
+// callParted calls each function of chapter 5 that takes a net and a row.
+func callParted(net []int, row []int) {
+	impl.PartedAt(net, row)
+	impl.TurnedSides(net, row)
+}
+
 // callSafely tells a panic with the argument that made it.
 func callSafely(t *testing.T, net []int) {
 	t.Helper()
@@ -59,6 +65,7 @@ func callSafely(t *testing.T, net []int) {
 	callNets(net)
 	callGraceful(net)
 	callCaterpillars(net)
+	impl.PartedMany(net)
 }
 
 func TestNoFunctionPanics(t *testing.T) {
@@ -123,9 +130,11 @@ func callRowsSafely(t *testing.T, net []int, row []int, numbers []int) {
 	}()
 	callRows(net, row)
 	impl.GracefulOk(net, row)
+	callParted(net, row)
 	for at, number := range numbers {
 		told = at
 		callMoves(net, row, number)
+		impl.RaisedRow(net, row, number)
 	}
 }
 
@@ -149,6 +158,22 @@ func TestNoFunctionOfRowsPanics(t *testing.T) {
 			}
 		}
 	}
+}
+
+func TestNoFunctionOfPartedRowsPanics(t *testing.T) {
+	most := int(^uint(0) >> 1)
+	numbers := []int{-most - 1, -31, -1, 0, 1, 24, 29, 30, 31, most - 5, most}
+	eachKindOfNet(t, func(net []int, table pairTable) {
+		callSafely(t, net)
+		// There are many graceful rows: so just every tenth one is taken, also with one number less, one more, and one place less.
+		rows := impl.GracefulRows(net)
+		for at := 0; at < len(rows); at += 10 {
+			callRowsSafely(t, net, rows[at], numbers)
+			callRowsSafely(t, net, rows[at][1:], numbers)
+			callRowsSafely(t, net, append([]int{0}, rows[at]...), numbers)
+			callRowsSafely(t, net[1:], rows[at], numbers)
+		}
+	})
 }
 
 // A mark behind the end of an argument shows a write into its spare capacity.
@@ -245,6 +270,41 @@ func TestNoFunctionOfCaterpillarsWritesIntoArguments(t *testing.T) {
 	eachNet(t, func(net []int, table pairTable) { check(net) })
 	for _, net := range badNets() {
 		check(net)
+	}
+}
+
+func TestNoFunctionOfPartedRowsWritesIntoArguments(t *testing.T) {
+	check := func(net []int, row []int) {
+		netRoom := roomy(net)
+		rowRoom := roomy(row)
+		callParted(netRoom, rowRoom)
+		for _, by := range []int{-1, 0, 1, 5, 25, 30, 31} {
+			impl.RaisedRow(netRoom, rowRoom, by)
+		}
+		if !untouched(netRoom, net) || !untouched(rowRoom, row) {
+			t.Errorf("%v or %v was written into: %v and %v", net, row, netRoom, rowRoom)
+		}
+	}
+	eachKindOfNet(t, func(net []int, table pairTable) {
+		netRoom := roomy(net)
+		impl.PartedMany(netRoom)
+		if !untouched(netRoom, net) {
+			t.Errorf("%v was written into: %v", net, netRoom)
+		}
+		rows := append(rowsOf(len(net)), impl.GracefulRows(net)...)
+		for at := 0; at < len(rows); at += 1 + len(rows)/20 {
+			check(net, rows[at])
+			check(net, rows[at][1:])
+		}
+	})
+	for _, net := range badNets() {
+		room := roomy(net)
+		impl.PartedMany(room)
+		if !untouched(room, net) {
+			t.Errorf("%v was written into: %v", net, room)
+		}
+		check(net, make([]int, len(net)))
+		check(net, []int{0, 3, 1, 2})
 	}
 }
 
@@ -401,6 +461,46 @@ func TestResultsOfCaterpillarsAreNewMemory(t *testing.T) {
 	})
 }
 
+// partedAnswers returns all lists that chapter 5 returns for a net, a row and a number.
+func partedAnswers(net []int, row []int, by int) [][]int {
+	return [][]int{impl.TurnedSides(net, row), impl.RaisedRow(net, row, by)}
+}
+
+func TestResultsOfPartedRowsAreNewMemory(t *testing.T) {
+	check := func(net []int, row []int, by int) {
+		netRoom := roomy(net)
+		rowRoom := roomy(row)
+		want := partedAnswers(net, row, by)
+		first := partedAnswers(netRoom, rowRoom, by)
+		second := partedAnswers(netRoom, rowRoom, by)
+		if len(first[0]) != len(net) || len(first[1]) != len(net) {
+			t.Fatalf("at %v, %v and %d the answers are %v", net, row, by, first)
+		}
+		for at := range first {
+			spoil(first[at])
+			if !sameLists(first, want, at+1) || !sameLists(second, want, 0) {
+				t.Errorf("at %v, %v and %d the answer %d shares memory with another one", net, row, by, at)
+			}
+			if !untouched(netRoom, net) || !untouched(rowRoom, row) {
+				t.Errorf("at %v, %v and %d the answer %d shares memory with an argument", net, row, by, at)
+			}
+		}
+	}
+	// Also rows that are the same turned within their sides, or raised by 0.
+	nets := [][]int{{0}, {2, 1}, {2, 5, 2}, {2, 5, 10, 4}, {10, 5, 10, 5}, {10, 5, 10, 5, 0}, {28, 28, 3, 3, 3}, {2, 5, 10, 20, 40, 16}}
+	for _, net := range nets {
+		table := tableOfNet(net)
+		for _, row := range gracefulRowsOf(table) {
+			if partedOf(table, row) < 0 {
+				continue
+			}
+			for _, by := range []int{0, 1, mostLabel - len(table.wires())} {
+				check(net, row, by)
+			}
+		}
+	}
+}
+
 // What was asked before must not change an answer.
 func TestNoStateBetweenCalls(t *testing.T) {
 	path := []int{2, 5, 10, 4}
@@ -429,9 +529,18 @@ func TestNoStateBetweenCalls(t *testing.T) {
 		if !sameList(impl.Backbone(path), []int{1, 2}) || !sameList(impl.CaterpillarRow(path), []int{3, 0, 2, 1}) || impl.LegsOf(path) != 2 {
 			t.Errorf("caterpillars of the turn %d are told otherwise", turn)
 		}
+		callParted(triangle, []int{0, 1, 3})
+		callParted(impl.ShapeNet(2, 6), []int{5, 0, 1, 2, 3, 4})
+		impl.RaisedRow(impl.ShapeNet(2, 6), []int{5, 0, 1, 2, 3, 4}, 7)
+		impl.PartedMany(triangle)
+		if impl.PartedAt(path, row) != 1 || impl.PartedMany(path) != 4 || !sameList(impl.TurnedSides(path, row), []int{1, 2, 0, 3}) || !sameList(impl.RaisedRow(path, row, 5), []int{0, 8, 1, 7}) {
+			t.Errorf("parted rows of the turn %d are told otherwise", turn)
+		}
 		callNets(nil)
 		callGraceful(nil)
 		callCaterpillars(nil)
+		callParted(nil, nil)
+		impl.PartedMany(nil)
 		if impl.SidesOf(triangle) != -1 || impl.MostNear(triangle) != 2 || impl.TreeOk(triangle) {
 			t.Errorf("the turn %d answers otherwise", turn)
 		}

@@ -349,3 +349,26 @@ func TestWayOfCaterpillars(t *testing.T) {
 		}
 	}
 }
+
+// The way of chapter 5: the greatest low end and the least high end of all wires are found first, and then compared; no numbers are tried one by one. Of graceful rows those are counted that are parted so.
+func TestWayOfPartedRows(t *testing.T) {
+	tree := sourceOf(t, "l5_alpha.go")
+	if !calls(tree, "WireList") {
+		t.Error("the ends of wires are not gone through")
+	}
+	if most := loopsWithin(tree); most > 1 {
+		t.Errorf("%d loops stand one in the other", most)
+	}
+	if loopsWithin(functionOf(t, tree, "PartedAt")) > 0 || callsItself(tree) {
+		t.Error("numbers are tried one by one")
+	}
+	parted := functionOf(t, tree, "PartedMany")
+	if !calls(parted, "GracefulRows") || !calls(parted, "PartedAt") {
+		t.Error("graceful rows are not gone through")
+	}
+	for _, name := range []string{"TurnedSides", "RaisedRow"} {
+		if !calls(functionOf(t, tree, name), "PartedAt") {
+			t.Errorf("%s does not ask where the row is parted", name)
+		}
+	}
+}

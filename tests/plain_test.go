@@ -540,3 +540,48 @@ func eachTree(t *testing.T, check func(net []int, table pairTable)) {
 		}
 	})
 }
+
+// partedOf returns the least number that parts a row, found by trying all numbers from 0 on; -1 if none does, or the row is not graceful.
+func partedOf(table pairTable, row []int) int {
+	if len(row) != len(table) || !isGraceful(table.wires(), row) {
+		return -1
+	}
+	for number := 0; number <= mostLabel; number++ {
+		if isPartedBy(table.wires(), row, number) {
+			return number
+		}
+	}
+	return -1
+}
+
+// isPartedBy reports whether each wire has one end with at most a number, and one with more.
+func isPartedBy(wires [][2]int, row []int, number int) bool {
+	for _, wire := range wires {
+		many := 0
+		for _, place := range wire {
+			if row[place] > number {
+				many++
+			}
+		}
+		if many != 1 {
+			return false
+		}
+	}
+	return true
+}
+
+// sidesTurnedOf returns a row with numbers in 0..most in which the least one that is at most parted has become the greatest of these, the next one the one below that, and so on, and those that are more likewise: found in a list of all numbers with both halves written backwards.
+func sidesTurnedOf(row []int, most int, parted int) []int {
+	var backwards []int
+	for number := parted; number >= 0; number-- {
+		backwards = append(backwards, number)
+	}
+	for number := most; number > parted; number-- {
+		backwards = append(backwards, number)
+	}
+	var list []int
+	for _, number := range row {
+		list = append(list, backwards[number])
+	}
+	return list
+}
