@@ -54,6 +54,13 @@ func callParted(net []int, row []int) {
 	impl.TurnedSides(net, row)
 }
 
+// callRound calls each function of chapter 6 that takes a net, a row and a ring.
+func callRound(net []int, row []int, ring int) {
+	impl.PairCounts(net, row, ring)
+	impl.CoversOk(net, row, ring)
+	impl.RoundDifferences(net, row, ring)
+}
+
 // callSafely tells a panic with the argument that made it.
 func callSafely(t *testing.T, net []int) {
 	t.Helper()
@@ -172,6 +179,52 @@ func TestNoFunctionOfPartedRowsPanics(t *testing.T) {
 			callRowsSafely(t, net, rows[at][1:], numbers)
 			callRowsSafely(t, net, append([]int{0}, rows[at]...), numbers)
 			callRowsSafely(t, net[1:], rows[at], numbers)
+		}
+	})
+}
+
+// callRoundSafely tells a panic with the arguments that made it.
+func callRoundSafely(t *testing.T, net []int, row []int, ring int, numbers []int) {
+	t.Helper()
+	defer func() {
+		if what := recover(); what != nil {
+			t.Errorf("at %v, %v and a ring of %d: %v", net, row, ring, what)
+		}
+	}()
+	callRound(net, row, ring)
+	for _, by := range numbers {
+		impl.TurnedBy(net, row, ring, by)
+	}
+}
+
+func TestNoFunctionOfRowsTurnedRoundPanics(t *testing.T) {
+	most := int(^uint(0) >> 1)
+	odd := []int{-most - 1, -most, -31, -1, 0, 1, 2, 6, 7, 13, 30, 31, 32, 64, 1 << 40, most - 30, most - 1, most}
+	nets := append(badNets(), []int{0}, []int{0, 0}, []int{2, 1}, []int{6, 5, 3}, []int{2, 5, 10, 4}, []int{16, 8, 0, 2, 1}, []int{62, 61, 59, 55, 47, 31})
+	for _, net := range nets {
+		for places := 0; places <= mostPlaces+2; places++ {
+			for _, first := range odd {
+				// Numbers go up from the first one, past what an int holds too, so that they are unlike.
+				row := make([]int, places)
+				for place := range row {
+					row[place] = first + place
+				}
+				for _, ring := range odd {
+					callRoundSafely(t, net, row, ring, odd)
+				}
+			}
+			for _, ring := range odd {
+				callRoundSafely(t, net, make([]int, places), ring, odd)
+			}
+		}
+	}
+	eachKindOfNet(t, func(net []int, table pairTable) {
+		for _, row := range spreadRowsOf(len(net)) {
+			for _, ring := range append(ringsOf(row, len(table.wires())), greatest(row), 0, -1, mostRing+1) {
+				callRoundSafely(t, net, row, ring, []int{-1, 0, 1, ring - 1, ring, most})
+				callRoundSafely(t, net, row[1:], ring, []int{0, 1})
+				callRoundSafely(t, net[1:], row, ring, []int{0, 1})
+			}
 		}
 	})
 }
@@ -305,6 +358,35 @@ func TestNoFunctionOfPartedRowsWritesIntoArguments(t *testing.T) {
 		}
 		check(net, make([]int, len(net)))
 		check(net, []int{0, 3, 1, 2})
+	}
+}
+
+func TestNoFunctionOfRowsTurnedRoundWritesIntoArguments(t *testing.T) {
+	check := func(net []int, row []int, ring int) {
+		netRoom := roomy(net)
+		rowRoom := roomy(row)
+		callRound(netRoom, rowRoom, ring)
+		for _, by := range []int{-1, 0, 1, 2, ring - 1, ring} {
+			impl.TurnedBy(netRoom, rowRoom, ring, by)
+		}
+		if !untouched(netRoom, net) || !untouched(rowRoom, row) {
+			t.Errorf("%v or %v was written into: %v and %v", net, row, netRoom, rowRoom)
+		}
+	}
+	eachKindOfNet(t, func(net []int, table pairTable) {
+		for _, row := range spreadRowsOf(len(net)) {
+			for _, ring := range []int{greatest(row), greatest(row) + 1, 2*len(table.wires()) + 1, mostRing, mostRing + 1} {
+				check(net, row, ring)
+				check(net, row[1:], ring)
+				check(net, append([]int{6}, row...), ring)
+			}
+		}
+	})
+	for _, net := range badNets() {
+		for _, ring := range []int{0, 1, 7, mostRing} {
+			check(net, make([]int, len(net)), ring)
+			check(net, []int{0, 3, 1, 2}, ring)
+		}
 	}
 }
 
@@ -501,6 +583,44 @@ func TestResultsOfPartedRowsAreNewMemory(t *testing.T) {
 	}
 }
 
+// roundAnswers returns all lists that chapter 6 returns for a net, a row, a ring and a number.
+func roundAnswers(net []int, row []int, ring int, by int) [][]int {
+	return [][]int{impl.TurnedBy(net, row, ring, by), impl.PairCounts(net, row, ring), impl.RoundDifferences(net, row, ring)}
+}
+
+func TestResultsOfRowsTurnedRoundAreNewMemory(t *testing.T) {
+	check := func(net []int, row []int, ring int, by int) {
+		netRoom := roomy(net)
+		rowRoom := roomy(row)
+		want := roundAnswers(net, row, ring, by)
+		first := roundAnswers(netRoom, rowRoom, ring, by)
+		second := roundAnswers(netRoom, rowRoom, ring, by)
+		if len(first[0]) != len(net) || len(first[1]) != ring*(ring-1)/2 {
+			t.Fatalf("at %v, %v, %d and %d the answers are %v", net, row, ring, by, first)
+		}
+		for at := range first {
+			spoil(first[at])
+			if !sameLists(first, want, at+1) || !sameLists(second, want, 0) {
+				t.Errorf("at %v, %v, %d and %d the answer %d shares memory with another one", net, row, ring, by, at)
+			}
+			if !untouched(netRoom, net) || !untouched(rowRoom, row) {
+				t.Errorf("at %v, %v, %d and %d the answer %d shares memory with an argument", net, row, ring, by, at)
+			}
+		}
+	}
+	eachSmallNet(t, func(net []int) {
+		for _, row := range spreadRowsOf(len(net)) {
+			// A row turned by 0 is new memory still.
+			for _, ring := range []int{greatest(row) + 1, mostRing} {
+				check(net, row, ring, 0)
+				check(net, row, ring, ring-1)
+			}
+		}
+	})
+	check([]int{62, 61, 59, 55, 47, 31}, []int{1, 5, 11, 24, 25, 27}, mostRing, 0)
+	check([]int{62, 61, 59, 55, 47, 31}, []int{1, 5, 11, 24, 25, 27}, mostRing, 6)
+}
+
 // What was asked before must not change an answer.
 func TestNoStateBetweenCalls(t *testing.T) {
 	path := []int{2, 5, 10, 4}
@@ -536,11 +656,18 @@ func TestNoStateBetweenCalls(t *testing.T) {
 		if impl.PartedAt(path, row) != 1 || impl.PartedMany(path) != 4 || !sameList(impl.TurnedSides(path, row), []int{1, 2, 0, 3}) || !sameList(impl.RaisedRow(path, row, 5), []int{0, 8, 1, 7}) {
 			t.Errorf("parted rows of the turn %d are told otherwise", turn)
 		}
+		callRound(triangle, []int{0, 1, 3}, 7)
+		callRound([]int{62, 61, 59, 55, 47, 31}, []int{1, 5, 11, 24, 25, 27}, 31)
+		impl.TurnedBy(triangle, []int{0, 1, 3}, 4, 3)
+		if !sameList(impl.TurnedBy(path, row, 7, 5), []int{5, 1, 6, 0}) || !sameList(impl.PairCounts(path, row, 5), []int{1, 2, 2, 1, 1, 2, 2, 1, 2, 1}) || !impl.CoversOk(path, row, 7) || !sameList(impl.RoundDifferences(path, row, 5), []int{2, 2, 1}) {
+			t.Errorf("rows of the turn %d are turned round otherwise", turn)
+		}
 		callNets(nil)
 		callGraceful(nil)
 		callCaterpillars(nil)
 		callParted(nil, nil)
 		impl.PartedMany(nil)
+		callRound(nil, nil, 0)
 		if impl.SidesOf(triangle) != -1 || impl.MostNear(triangle) != 2 || impl.TreeOk(triangle) {
 			t.Errorf("the turn %d answers otherwise", turn)
 		}

@@ -372,3 +372,26 @@ func TestWayOfPartedRows(t *testing.T) {
 		}
 	}
 }
+
+// The way of chapter 6: all wires of all rows turned round are counted in a table of pairs; what covers the ring is told by these counts.
+func TestWayOfRowsTurnedRound(t *testing.T) {
+	tree := sourceOf(t, "l6_turning.go")
+	if !countsUp(tree) {
+		t.Error("turned wires are not counted in a table")
+	}
+	for _, name := range []string{"WireList", "TurnedBy"} {
+		if !calls(tree, name) {
+			t.Errorf("%s does not tell the wires turned round", name)
+		}
+	}
+	// For each turn all wires: with one loop more each pair would be looked for among them.
+	if most := loopsWithin(tree); most != 2 {
+		t.Errorf("%d loops stand one in the other", most)
+	}
+	if !calls(functionOf(t, tree, "CoversOk"), "PairCounts") {
+		t.Error("what covers the ring is not told by counts")
+	}
+	if callsItself(tree) {
+		t.Error("rows are looked for by trying")
+	}
+}

@@ -11,6 +11,9 @@ const mostPlaces = 6
 // mostLabel is MostLabel as the document has it.
 const mostLabel = 30
 
+// mostRing is MostRing as the document has it.
+const mostRing = 31
+
 // The tests tell nets by tables of pairs, not by rows of bits, so that a slip with bits in impl is not made here, too.
 
 // pairTable says for each two places whether they are neighbours.
@@ -584,4 +587,82 @@ func sidesTurnedOf(row []int, most int, parted int) []int {
 		list = append(list, backwards[number])
 	}
 	return list
+}
+
+// isOnRing reports whether a row has so many unlike numbers, all of them on a ring of as many numbers as there may be.
+func isOnRing(places int, row []int, ring int) bool {
+	if ring < 1 || ring > mostRing || len(row) != places {
+		return false
+	}
+	return least(row) >= 0 && greatest(row) < ring && unlike(row)
+}
+
+// nextOn returns the number behind a number of a ring.
+func nextOn(ring int, number int) int {
+	if number == ring-1 {
+		return 0
+	}
+	return number + 1
+}
+
+// steppedOf returns a row in which each number has gone on step by step, so often, on a ring.
+func steppedOf(row []int, ring int, by int) []int {
+	list := append([]int{}, row...)
+	for ; by > 0; by-- {
+		for place := range list {
+			list[place] = nextOn(ring, list[place])
+		}
+	}
+	return list
+}
+
+// stepsOn returns how many steps lead from one number of a ring on to another one.
+func stepsOn(ring int, from int, to int) int {
+	steps := 0
+	for ; from != to; from = nextOn(ring, from) {
+		steps++
+	}
+	return steps
+}
+
+// roundOf returns for each pair of neighbours the steps between their numbers on a ring, the fewer ones of those from the one on to the other one, and of those back.
+func roundOf(table pairTable, row []int, ring int) []int {
+	var list []int
+	for _, wire := range table.wires() {
+		a, b := row[wire[0]], row[wire[1]]
+		list = append(list, min(stepsOn(ring, a, b), stepsOn(ring, b, a)))
+	}
+	return list
+}
+
+// pairCountsOf returns for each pair of numbers of a ring how often it is a wire of a row turned round, without turning it: one end of a wire comes to the lesser number just once, and the other end is on the greater one then just if it is as many steps ahead; and so the other way.
+func pairCountsOf(table pairTable, row []int, ring int) []int {
+	var steps []int
+	for _, wire := range table.wires() {
+		a, b := row[wire[0]], row[wire[1]]
+		steps = append(steps, stepsOn(ring, a, b), stepsOn(ring, b, a))
+	}
+	var counts []int
+	for lesser := 0; lesser < ring; lesser++ {
+		for greater := lesser + 1; greater < ring; greater++ {
+			many := 0
+			for _, ahead := range steps {
+				if ahead == greater-lesser {
+					many++
+				}
+			}
+			counts = append(counts, many)
+		}
+	}
+	return counts
+}
+
+// areOnes reports whether all numbers of a list are 1.
+func areOnes(list []int) bool {
+	for _, number := range list {
+		if number != 1 {
+			return false
+		}
+	}
+	return true
 }
