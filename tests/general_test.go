@@ -61,6 +61,12 @@ func callRound(net []int, row []int, ring int) {
 	impl.RoundDifferences(net, row, ring)
 }
 
+// callHarmony calls each function of chapter 7 that takes a net.
+func callHarmony(net []int) {
+	impl.HarmonyRows(net)
+	impl.HarmonyMany(net)
+}
+
 // callSafely tells a panic with the argument that made it.
 func callSafely(t *testing.T, net []int) {
 	t.Helper()
@@ -73,6 +79,7 @@ func callSafely(t *testing.T, net []int) {
 	callGraceful(net)
 	callCaterpillars(net)
 	impl.PartedMany(net)
+	callHarmony(net)
 }
 
 func TestNoFunctionPanics(t *testing.T) {
@@ -138,10 +145,14 @@ func callRowsSafely(t *testing.T, net []int, row []int, numbers []int) {
 	callRows(net, row)
 	impl.GracefulOk(net, row)
 	callParted(net, row)
+	impl.HarmonyOk(net, row)
 	for at, number := range numbers {
 		told = at
 		callMoves(net, row, number)
 		impl.RaisedRow(net, row, number)
+		impl.HarmonyMoved(net, row, number, number)
+		impl.HarmonyMoved(net, row, 1, number)
+		impl.HarmonyMoved(net, row, number, 1)
 	}
 }
 
@@ -225,6 +236,22 @@ func TestNoFunctionOfRowsTurnedRoundPanics(t *testing.T) {
 				callRoundSafely(t, net, row[1:], ring, []int{0, 1})
 				callRoundSafely(t, net[1:], row, ring, []int{0, 1})
 			}
+		}
+	})
+}
+
+func TestNoFunctionOfHarmonyPanics(t *testing.T) {
+	most := int(^uint(0) >> 1)
+	numbers := []int{-most - 1, -31, -1, 0, 1, 2, 7, 29, 30, 31, most - 14, most}
+	eachKindOfNet(t, func(net []int, table pairTable) {
+		callSafely(t, net)
+		// There are many harmonious rows: so just some are taken, also with one number less, one more, and one place less.
+		rows := append(impl.HarmonyRows(net), make([]int, len(net)))
+		for at := 0; at < len(rows); at += 1 + len(rows)/30 {
+			callRowsSafely(t, net, rows[at], numbers)
+			callRowsSafely(t, net, rows[at][1:], numbers)
+			callRowsSafely(t, net, append([]int{0}, rows[at]...), numbers)
+			callRowsSafely(t, net[1:], rows[at], numbers)
 		}
 	})
 }
@@ -387,6 +414,38 @@ func TestNoFunctionOfRowsTurnedRoundWritesIntoArguments(t *testing.T) {
 			check(net, make([]int, len(net)), ring)
 			check(net, []int{0, 3, 1, 2}, ring)
 		}
+	}
+}
+
+func TestNoFunctionOfHarmonyWritesIntoArguments(t *testing.T) {
+	check := func(net []int, rows [][]int) {
+		netRoom := roomy(net)
+		callHarmony(netRoom)
+		for _, row := range rows {
+			rowRoom := roomy(row)
+			impl.HarmonyOk(netRoom, rowRoom)
+			for _, factor := range []int{-1, 0, 1, 2, 7, 30, 31} {
+				impl.HarmonyMoved(netRoom, rowRoom, factor, 1)
+				impl.HarmonyMoved(netRoom, rowRoom, 1, factor)
+			}
+			if !untouched(rowRoom, row) {
+				t.Errorf("%v was written into: %v", row, rowRoom)
+			}
+		}
+		if !untouched(netRoom, net) {
+			t.Errorf("%v was written into: %v", net, netRoom)
+		}
+	}
+	eachKindOfNet(t, func(net []int, table pairTable) {
+		rows := append(rowsOf(len(net)), make([]int, len(net)+1), []int{-1})
+		harmonious := impl.HarmonyRows(net)
+		for at := 0; at < len(harmonious); at += 1 + len(harmonious)/20 {
+			rows = append(rows, harmonious[at])
+		}
+		check(net, rows)
+	})
+	for _, net := range badNets() {
+		check(net, [][]int{make([]int, len(net)), {0, 1, 2, 0}})
 	}
 }
 
@@ -621,6 +680,37 @@ func TestResultsOfRowsTurnedRoundAreNewMemory(t *testing.T) {
 	check([]int{62, 61, 59, 55, 47, 31}, []int{1, 5, 11, 24, 25, 27}, mostRing, 6)
 }
 
+func TestResultsOfHarmonyAreNewMemory(t *testing.T) {
+	nets := [][]int{{2, 1}, {2, 5, 2}, {6, 5, 3}, {2, 5, 10, 4}, {6, 5, 11, 4}, {14, 13, 11, 7}, {18, 5, 10, 20, 9}, {62, 1, 1, 1, 1, 1}}
+	for _, net := range nets {
+		netRoom := roomy(net)
+		want := harmoniousRowsOf(tableOfNet(net))
+		kept := impl.HarmonyRows(netRoom)
+		rows := impl.HarmonyRows(netRoom)
+		for at := range rows {
+			spoil(rows[at])
+			if !sameLists(rows, want, at+1) {
+				t.Errorf("at %v the row %d shares memory with another one", net, at)
+			}
+		}
+		if !sameLists(kept, want, 0) || !sameLists(impl.HarmonyRows(netRoom), want, 0) {
+			t.Errorf("at %v the rows of two answers share memory", net)
+		}
+		// A row that is the same moved is new memory still.
+		for _, row := range want {
+			rowRoom := roomy(row)
+			keptRow := impl.HarmonyMoved(netRoom, rowRoom, 1, 0)
+			spoil(impl.HarmonyMoved(netRoom, rowRoom, 1, 0))
+			if !untouched(rowRoom, row) || !sameList(keptRow, row) || !sameList(impl.HarmonyMoved(netRoom, rowRoom, 1, 0), row) {
+				t.Errorf("at %v and %v the row moved shares memory", net, row)
+			}
+		}
+		if !untouched(netRoom, net) {
+			t.Errorf("rows share memory with the net: %v", netRoom)
+		}
+	}
+}
+
 // What was asked before must not change an answer.
 func TestNoStateBetweenCalls(t *testing.T) {
 	path := []int{2, 5, 10, 4}
@@ -662,12 +752,19 @@ func TestNoStateBetweenCalls(t *testing.T) {
 		if !sameList(impl.TurnedBy(path, row, 7, 5), []int{5, 1, 6, 0}) || !sameList(impl.PairCounts(path, row, 5), []int{1, 2, 2, 1, 1, 2, 2, 1, 2, 1}) || !impl.CoversOk(path, row, 7) || !sameList(impl.RoundDifferences(path, row, 5), []int{2, 2, 1}) {
 			t.Errorf("rows of the turn %d are turned round otherwise", turn)
 		}
+		callHarmony(triangle)
+		impl.HarmonyOk(path, []int{0, 0, 1, 1})
+		impl.HarmonyMoved(triangle, []int{0, 1, 2}, 2, 1)
+		if impl.HarmonyMany(path) != 12 || !impl.HarmonyOk(path, []int{0, 1, 2, 0}) || !sameList(impl.HarmonyRows(path)[0], []int{0, 1, 1, 2}) || !sameList(impl.HarmonyMoved(path, []int{0, 1, 2, 0}, 1, 1), []int{1, 2, 0, 1}) {
+			t.Errorf("harmonious rows of the turn %d are told otherwise", turn)
+		}
 		callNets(nil)
 		callGraceful(nil)
 		callCaterpillars(nil)
 		callParted(nil, nil)
 		impl.PartedMany(nil)
 		callRound(nil, nil, 0)
+		callHarmony(nil)
 		if impl.SidesOf(triangle) != -1 || impl.MostNear(triangle) != 2 || impl.TreeOk(triangle) {
 			t.Errorf("the turn %d answers otherwise", turn)
 		}

@@ -395,3 +395,17 @@ func TestWayOfRowsTurnedRound(t *testing.T) {
 		t.Error("rows are looked for by trying")
 	}
 }
+
+// The way of chapter 7: numbers are given place by place, each one by a call from the one ahead of it, and remainders of sums by the ring are marked, not compared two by two.
+func TestWayOfHarmony(t *testing.T) {
+	tree := sourceOf(t, "l7_harmony.go")
+	if !callsItself(tree) {
+		t.Error("numbers are not given place by place")
+	}
+	if !marks(tree) || !operators(tree)[token.REM] {
+		t.Error("sums are not marked round the ring")
+	}
+	if most := loopsWithin(tree); most > 1 {
+		t.Errorf("%d loops stand one in the other", most)
+	}
+}

@@ -666,3 +666,89 @@ func areOnes(list []int) bool {
 	}
 	return true
 }
+
+// pairsAlike returns how many pairs of places have the same number.
+func pairsAlike(row []int) int {
+	many := 0
+	for place := range row {
+		for other := range row[:place] {
+			if row[place] == row[other] {
+				many++
+			}
+		}
+	}
+	return many
+}
+
+// alikeOf returns how many pairs of places have the same number in a harmonious row: of a tree one, of others none.
+func alikeOf(table pairTable) int {
+	if table.isTree() {
+		return 1
+	}
+	return 0
+}
+
+// isHarmonious reports whether the numbers of a row are on the ring of as many numbers as there are wires, as many pairs of them alike as may be, and no two sums meet on the ring: as none goes as far as twice round it, they meet if they are the same, or one is just once round further than the other.
+func isHarmonious(wires [][2]int, alike int, row []int) bool {
+	ring := len(wires)
+	if ring == 0 || least(row) < 0 || greatest(row) >= ring || pairsAlike(row) != alike {
+		return false
+	}
+	for at, wire := range wires {
+		sum := row[wire[0]] + row[wire[1]]
+		for _, other := range wires[:at] {
+			another := row[other[0]] + row[other[1]]
+			if sum == another || sum == another+ring || sum+ring == another {
+				return false
+			}
+		}
+	}
+	return true
+}
+
+// harmoniousRowsOf returns all harmonious rows of a table in ascending order, found by trying all rows.
+func harmoniousRowsOf(table pairTable) [][]int {
+	wires := table.wires()
+	alike := alikeOf(table)
+	var rows [][]int
+	keep := func(row []int) {
+		if isHarmonious(wires, alike, row) {
+			rows = append(rows, append([]int{}, row...))
+		}
+	}
+	if alike > 0 && len(wires) > 0 {
+		eachRow(len(table), 0, len(wires)-1, keep)
+		sortRows(rows)
+	} else {
+		eachUnlikeRow(len(table), len(wires)-1, keep)
+	}
+	return rows
+}
+
+// sortRows puts rows of as many numbers in ascending order.
+func sortRows(rows [][]int) {
+	sort.Slice(rows, func(a, b int) bool { return comesAhead(rows[a], rows[b]) })
+}
+
+// haveDivisor reports whether a number that is not 0 and another one, neither below 0, have a common divisor but 1.
+func haveDivisor(ring int, factor int) bool {
+	for divisor := 2; divisor <= ring; divisor++ {
+		if ring%divisor == 0 && factor%divisor == 0 {
+			return true
+		}
+	}
+	return false
+}
+
+// multipliedOf returns a row in which each number is gone so often from 0 on, step by step, and then some steps more, on a ring.
+func multipliedOf(row []int, ring int, factor int, by int) []int {
+	list := make([]int, len(row))
+	for ; factor > 0; factor-- {
+		for place := range list {
+			for steps := row[place]; steps > 0; steps-- {
+				list[place] = nextOn(ring, list[place])
+			}
+		}
+	}
+	return steppedOf(list, ring, by)
+}
