@@ -67,6 +67,20 @@ func callHarmony(net []int) {
 	impl.HarmonyMany(net)
 }
 
+// callFriendly calls each function of chapter 8 that takes a net.
+func callFriendly(net []int) {
+	impl.FriendlyFirst(net)
+	impl.FriendlyGaps(net)
+	impl.MostUnlike(net)
+}
+
+// callSets calls each function of chapter 8 that takes a net and a set.
+func callSets(net []int, set int) {
+	impl.UnlikeWires(net, set)
+	impl.BalancedOk(net, set)
+	impl.FriendlyOk(net, set)
+}
+
 // callSafely tells a panic with the argument that made it.
 func callSafely(t *testing.T, net []int) {
 	t.Helper()
@@ -80,6 +94,7 @@ func callSafely(t *testing.T, net []int) {
 	callCaterpillars(net)
 	impl.PartedMany(net)
 	callHarmony(net)
+	callFriendly(net)
 }
 
 func TestNoFunctionPanics(t *testing.T) {
@@ -254,6 +269,36 @@ func TestNoFunctionOfHarmonyPanics(t *testing.T) {
 			callRowsSafely(t, net[1:], rows[at], numbers)
 		}
 	})
+}
+
+// callSetsSafely tells a panic with the arguments that made it.
+func callSetsSafely(t *testing.T, net []int, set int) {
+	t.Helper()
+	defer func() {
+		if told := recover(); told != nil {
+			t.Errorf("at %v and the set %d: %v", net, set, told)
+		}
+	}()
+	callSets(net, set)
+}
+
+func TestNoFunctionOfFriendsPanics(t *testing.T) {
+	most := int(^uint(0) >> 1)
+	nets := badNets()
+	// Nets without wires of more places than there may be, up to more than a set has bits.
+	for places := 1; places <= 70; places++ {
+		nets = append(nets, make([]int, places))
+	}
+	eachKindOfNet(t, func(net []int, table pairTable) { nets = append(nets, net, net[1:]) })
+	for _, net := range nets {
+		callSafely(t, net)
+		for set := -70; set <= 140; set++ {
+			callSetsSafely(t, net, set)
+		}
+		for _, set := range []int{-most - 1, -most, -1 << 32, 1 << 32, 1 << 62, most - 1, most} {
+			callSetsSafely(t, net, set)
+		}
+	}
 }
 
 // A mark behind the end of an argument shows a write into its spare capacity.
@@ -446,6 +491,23 @@ func TestNoFunctionOfHarmonyWritesIntoArguments(t *testing.T) {
 	})
 	for _, net := range badNets() {
 		check(net, [][]int{make([]int, len(net)), {0, 1, 2, 0}})
+	}
+}
+
+func TestNoFunctionOfFriendsWritesIntoArguments(t *testing.T) {
+	check := func(net []int) {
+		room := roomy(net)
+		callFriendly(room)
+		for _, set := range []int{-1, 0, 1, 3, 5, 7, 13, 21, 63, 64} {
+			callSets(room, set)
+		}
+		if !untouched(room, net) {
+			t.Errorf("%v was written into: %v", net, room)
+		}
+	}
+	eachNet(t, func(net []int, table pairTable) { check(net) })
+	for _, net := range badNets() {
+		check(net)
 	}
 }
 
@@ -711,6 +773,21 @@ func TestResultsOfHarmonyAreNewMemory(t *testing.T) {
 	}
 }
 
+func TestResultsOfFriendsAreNewMemory(t *testing.T) {
+	eachKindOfNet(t, func(net []int, table pairTable) {
+		room := roomy(net)
+		want := gapsOf(table)
+		kept := impl.FriendlyGaps(room)
+		spoil(impl.FriendlyGaps(room))
+		if !sameList(kept, want) || !sameList(impl.FriendlyGaps(room), want) {
+			t.Error("the gaps of two answers share memory")
+		}
+		if !untouched(room, net) {
+			t.Errorf("gaps share memory with the net: %v", room)
+		}
+	})
+}
+
 // What was asked before must not change an answer.
 func TestNoStateBetweenCalls(t *testing.T) {
 	path := []int{2, 5, 10, 4}
@@ -758,6 +835,13 @@ func TestNoStateBetweenCalls(t *testing.T) {
 		if impl.HarmonyMany(path) != 12 || !impl.HarmonyOk(path, []int{0, 1, 2, 0}) || !sameList(impl.HarmonyRows(path)[0], []int{0, 1, 1, 2}) || !sameList(impl.HarmonyMoved(path, []int{0, 1, 2, 0}, 1, 1), []int{1, 2, 0, 1}) {
 			t.Errorf("harmonious rows of the turn %d are told otherwise", turn)
 		}
+		callFriendly(triangle)
+		callFriendly(impl.ShapeNet(1, 6))
+		callSets(triangle, 1)
+		callSets([]int{62, 61, 59, 55, 47, 31}, 7)
+		if impl.UnlikeWires(path, 5) != 3 || impl.BalancedOk(path, 1) || !impl.FriendlyOk(path, 3) || impl.FriendlyFirst(path) != 3 || !sameList(impl.FriendlyGaps(path), []int{1, 3}) || impl.MostUnlike(path) != 3 {
+			t.Errorf("sets of the turn %d are told otherwise", turn)
+		}
 		callNets(nil)
 		callGraceful(nil)
 		callCaterpillars(nil)
@@ -765,6 +849,8 @@ func TestNoStateBetweenCalls(t *testing.T) {
 		impl.PartedMany(nil)
 		callRound(nil, nil, 0)
 		callHarmony(nil)
+		callFriendly(nil)
+		callSets(nil, 0)
 		if impl.SidesOf(triangle) != -1 || impl.MostNear(triangle) != 2 || impl.TreeOk(triangle) {
 			t.Errorf("the turn %d answers otherwise", turn)
 		}

@@ -409,3 +409,45 @@ func TestWayOfHarmony(t *testing.T) {
 		t.Errorf("%d loops stand one in the other", most)
 	}
 }
+
+// namesCountedUp returns how many names are counted up by one within the bodies of loops.
+func namesCountedUp(part ast.Node) int {
+	names := map[string]bool{}
+	ast.Inspect(part, func(node ast.Node) bool {
+		loop, ok := node.(*ast.ForStmt)
+		if !ok {
+			return true
+		}
+		ast.Inspect(loop.Body, func(node ast.Node) bool {
+			if step, ok := node.(*ast.IncDecStmt); ok && step.Tok == token.INC {
+				if name, ok := step.X.(*ast.Ident); ok {
+					names[name.Name] = true
+				}
+			}
+			return true
+		})
+		return false
+	})
+	return len(names)
+}
+
+// The way of chapter 8: all sets are counted up, one by one, and for each of them wires of both kinds are counted; nothing is taken from what chapter 1 tells of trees and sides.
+func TestWayOfFriends(t *testing.T) {
+	tree := sourceOf(t, "l8_balance.go")
+	for _, name := range []string{"FriendlyFirst", "FriendlyGaps", "MostUnlike"} {
+		if loopsWithin(functionOf(t, tree, name)) == 0 {
+			t.Errorf("%s does not count up the sets", name)
+		}
+	}
+	if !calls(tree, "WireList") || namesCountedUp(tree) != 2 {
+		t.Error("wires of both kinds are not counted")
+	}
+	if callsItself(tree) {
+		t.Error("sets are not counted up, but looked for place by place")
+	}
+	for _, name := range []string{"SidesOf", "TreeOk", "EvenOk", "wavesFrom"} {
+		if calls(tree, name) {
+			t.Errorf("sets are told by %s", name)
+		}
+	}
+}

@@ -752,3 +752,88 @@ func multipliedOf(row []int, ring int, factor int, by int) []int {
 	}
 	return steppedOf(list, ring, by)
 }
+
+// membersOf returns for each place whether it is in a set told by a number, of which the digits are taken off one by one.
+func membersOf(places int, set int) []bool {
+	members := make([]bool, places)
+	for place := range members {
+		members[place] = set%2 == 1
+		set /= 2
+	}
+	return members
+}
+
+// unlikeOf returns how many wires have just one end in a set: each of them leads from one place of it to one that is not in it.
+func unlikeOf(table pairTable, members []bool) int {
+	many := 0
+	for place := range table {
+		for other := range table {
+			if members[place] && !members[other] && table[place][other] {
+				many++
+			}
+		}
+	}
+	return many
+}
+
+// isBalanced reports whether half of all places are in a set, or half rounded up or down.
+func isBalanced(members []bool) bool {
+	many := 0
+	for _, member := range members {
+		if member {
+			many++
+		}
+	}
+	down := len(members) / 2
+	up := len(members) - down
+	return many == down || many == up
+}
+
+// gapBetween returns by how much so many of all wires, and all others, differ in number.
+func gapBetween(wires int, many int) int {
+	others := wires - many
+	return max(many, others) - min(many, others)
+}
+
+// isFriendly reports whether a set is balanced, and the wires with just one end in it, and all others, differ by one at most.
+func isFriendly(table pairTable, members []bool) bool {
+	return isBalanced(members) && gapBetween(len(table.wires()), unlikeOf(table, members)) <= 1
+}
+
+// gapsOf returns all numbers by which the wires with just one end in a balanced set, and all others, differ, ascending: each number that there may be is looked for among all sets.
+func gapsOf(table pairTable) []int {
+	wires := len(table.wires())
+	var met []int
+	for set := 0; set < power(len(table)); set++ {
+		if members := membersOf(len(table), set); isBalanced(members) {
+			met = append(met, gapBetween(wires, unlikeOf(table, members)))
+		}
+	}
+	var gaps []int
+	for gap := 0; gap <= wires; gap++ {
+		if hasNumber(met, gap) {
+			gaps = append(gaps, gap)
+		}
+	}
+	return gaps
+}
+
+// friendlySetsOf returns all friendly sets of a table, ascending.
+func friendlySetsOf(table pairTable) []int {
+	var sets []int
+	for set := 0; set < power(len(table)); set++ {
+		if isFriendly(table, membersOf(len(table), set)) {
+			sets = append(sets, set)
+		}
+	}
+	return sets
+}
+
+// mostUnlikeOf returns the greatest number of wires with just one end in a set: the sets without the last place will do, as all other places are as good as a set.
+func mostUnlikeOf(table pairTable) int {
+	most := 0
+	for set := 0; set < power(len(table)-1); set++ {
+		most = max(most, unlikeOf(table, membersOf(len(table), set)))
+	}
+	return most
+}
