@@ -81,6 +81,20 @@ func callSets(net []int, set int) {
 	impl.FriendlyOk(net, set)
 }
 
+// callOrders calls each function of chapter 9 that takes a net and a row.
+func callOrders(net []int, row []int) {
+	impl.OrderOk(net, row)
+	impl.WidthOf(net, row)
+	impl.LengthOf(net, row)
+	impl.CutsOf(net, row)
+}
+
+// callNarrow calls each function of chapter 9 that takes a net.
+func callNarrow(net []int) {
+	impl.NarrowRow(net)
+	impl.NarrowFirst(net)
+}
+
 // callSafely tells a panic with the argument that made it.
 func callSafely(t *testing.T, net []int) {
 	t.Helper()
@@ -95,6 +109,7 @@ func callSafely(t *testing.T, net []int) {
 	impl.PartedMany(net)
 	callHarmony(net)
 	callFriendly(net)
+	callNarrow(net)
 }
 
 func TestNoFunctionPanics(t *testing.T) {
@@ -161,6 +176,7 @@ func callRowsSafely(t *testing.T, net []int, row []int, numbers []int) {
 	impl.GracefulOk(net, row)
 	callParted(net, row)
 	impl.HarmonyOk(net, row)
+	callOrders(net, row)
 	for at, number := range numbers {
 		told = at
 		callMoves(net, row, number)
@@ -297,6 +313,33 @@ func TestNoFunctionOfFriendsPanics(t *testing.T) {
 		}
 		for _, set := range []int{-most - 1, -most, -1 << 32, 1 << 32, 1 << 62, most - 1, most} {
 			callSetsSafely(t, net, set)
+		}
+	}
+}
+
+func TestNoFunctionOfOrdersPanics(t *testing.T) {
+	most := int(^uint(0) >> 1)
+	nets := badNets()
+	// Nets without wires of more places than there may be, up to more than a set has bits.
+	for places := 1; places <= 70; places++ {
+		nets = append(nets, make([]int, places))
+	}
+	eachKindOfNet(t, func(net []int, table pairTable) { nets = append(nets, net, net[1:]) })
+	for _, net := range nets {
+		callSafely(t, net)
+		rows := [][]int{nil, {}, ownOrder(len(net)), ownOrder(70), turnedOf(ownOrder(len(net)), len(net)-1)}
+		for places := 1; places <= mostPlaces+2; places++ {
+			rows = append(rows, ownOrder(places))
+		}
+		for place := range net {
+			for _, number := range []int{-most - 1, -31, -1, 0, len(net) - 1, len(net), 30, 31, 64, most} {
+				row := ownOrder(len(net))
+				row[place] = number
+				rows = append(rows, row)
+			}
+		}
+		for _, row := range rows {
+			callRowsSafely(t, net, row, nil)
 		}
 	}
 }
@@ -508,6 +551,31 @@ func TestNoFunctionOfFriendsWritesIntoArguments(t *testing.T) {
 	eachNet(t, func(net []int, table pairTable) { check(net) })
 	for _, net := range badNets() {
 		check(net)
+	}
+}
+
+func TestNoFunctionOfOrdersWritesIntoArguments(t *testing.T) {
+	check := func(net []int, rows [][]int) {
+		netRoom := roomy(net)
+		callNarrow(netRoom)
+		for _, row := range rows {
+			rowRoom := roomy(row)
+			callOrders(netRoom, rowRoom)
+			if !untouched(rowRoom, row) {
+				t.Errorf("%v was written into: %v", row, rowRoom)
+			}
+		}
+		if !untouched(netRoom, net) {
+			t.Errorf("%v was written into: %v", net, netRoom)
+		}
+	}
+	eachKindOfNet(t, func(net []int, table pairTable) {
+		own := ownOrder(len(net))
+		rows := append(rowsOf(len(net)), own, own[1:], turnedOf(own, len(net)-1), turnedOf(own, len(net)), ownOrder(len(net)+1))
+		check(net, append(rows, someOrders(len(net))...))
+	})
+	for _, net := range badNets() {
+		check(net, [][]int{make([]int, len(net)), ownOrder(len(net)), {1, 0, 2}})
 	}
 }
 
@@ -788,6 +856,37 @@ func TestResultsOfFriendsAreNewMemory(t *testing.T) {
 	})
 }
 
+// orderAnswers returns all lists that chapter 9 returns for a net and a row.
+func orderAnswers(net []int, row []int) [][]int {
+	return [][]int{impl.CutsOf(net, row), impl.NarrowRow(net), impl.NarrowFirst(net)}
+}
+
+func TestResultsOfOrdersAreNewMemory(t *testing.T) {
+	check := func(net []int, row []int) {
+		netRoom := roomy(net)
+		rowRoom := roomy(row)
+		want := orderAnswers(net, row)
+		first := orderAnswers(netRoom, rowRoom)
+		second := orderAnswers(netRoom, rowRoom)
+		for at := range first {
+			spoil(first[at])
+			if !sameLists(first, want, at+1) || !sameLists(second, want, 0) || !sameLists(orderAnswers(netRoom, rowRoom), want, 0) {
+				t.Errorf("at %v and %v the answer %d shares memory with another one", net, row, at)
+			}
+			if !untouched(netRoom, net) || !untouched(rowRoom, row) {
+				t.Errorf("at %v and %v the answer %d shares memory with an argument", net, row, at)
+			}
+		}
+	}
+	eachNetUpTo(t, mostPlaces-1, func(net []int, table pairTable) {
+		check(net, ownOrder(len(net)))
+		// The order that is told may be the one that is asked for.
+		check(net, impl.NarrowFirst(net))
+	})
+	check([]int{62, 61, 59, 55, 47, 31}, []int{0, 1, 2, 3, 4, 5})
+	check([]int{42, 21, 10, 5, 2, 1}, []int{1, 3, 4, 2, 5, 0})
+}
+
 // What was asked before must not change an answer.
 func TestNoStateBetweenCalls(t *testing.T) {
 	path := []int{2, 5, 10, 4}
@@ -842,6 +941,13 @@ func TestNoStateBetweenCalls(t *testing.T) {
 		if impl.UnlikeWires(path, 5) != 3 || impl.BalancedOk(path, 1) || !impl.FriendlyOk(path, 3) || impl.FriendlyFirst(path) != 3 || !sameList(impl.FriendlyGaps(path), []int{1, 3}) || impl.MostUnlike(path) != 3 {
 			t.Errorf("sets of the turn %d are told otherwise", turn)
 		}
+		callNarrow(triangle)
+		callNarrow([]int{62, 61, 59, 55, 47, 31})
+		callOrders(triangle, []int{2, 0, 1})
+		callOrders(path, []int{2, 0, 3, 3})
+		if !impl.OrderOk(path, row) || impl.WidthOf(path, row) != 3 || impl.LengthOf(path, row) != 6 || !sameList(impl.CutsOf(path, row), []int{1, 3, 2}) || !sameList(impl.NarrowRow(path), []int{1, 3, 1}) || !sameList(impl.NarrowFirst(path), []int{0, 1, 2, 3}) {
+			t.Errorf("orders of the turn %d are told otherwise", turn)
+		}
 		callNets(nil)
 		callGraceful(nil)
 		callCaterpillars(nil)
@@ -851,6 +957,8 @@ func TestNoStateBetweenCalls(t *testing.T) {
 		callHarmony(nil)
 		callFriendly(nil)
 		callSets(nil, 0)
+		callNarrow(nil)
+		callOrders(nil, nil)
 		if impl.SidesOf(triangle) != -1 || impl.MostNear(triangle) != 2 || impl.TreeOk(triangle) {
 			t.Errorf("the turn %d answers otherwise", turn)
 		}

@@ -451,3 +451,21 @@ func TestWayOfFriends(t *testing.T) {
 		}
 	}
 }
+
+// The way of chapter 9: all orders are gone through, and for each gap the wires over it are counted; nothing is taken from what chapter 1 tells of neighbours and parts.
+func TestWayOfNarrowRows(t *testing.T) {
+	tree := sourceOf(t, "l9_narrow.go")
+	for _, name := range []string{"NarrowRow", "NarrowFirst"} {
+		if loopsWithin(functionOf(t, tree, name)) == 0 {
+			t.Errorf("%s does not go through the orders", name)
+		}
+	}
+	if !calls(tree, "WireList") || !countsUp(tree) {
+		t.Error("wires over gaps are not counted")
+	}
+	for _, name := range []string{"MostNear", "PartMany", "TreeOk", "SidesOf", "wavesFrom"} {
+		if calls(tree, name) {
+			t.Errorf("orders are told by %s", name)
+		}
+	}
+}

@@ -837,3 +837,82 @@ func mostUnlikeOf(table pairTable) int {
 	}
 	return most
 }
+
+// isOrder reports whether a row has each number from 0 on, as many as there are places, and no further number.
+func isOrder(places int, row []int) bool {
+	for number := 0; number < places; number++ {
+		if !hasNumber(row, number) {
+			return false
+		}
+	}
+	return len(row) == places
+}
+
+// standing returns the table in which each place is called as the number it has in an order: so the places stand side by side, and a wire is as long as its ends are apart.
+func (table pairTable) standing(order []int) pairTable {
+	return table.renamed(order)
+}
+
+// widthOf returns how long the longest wire is of places that stand side by side: one looks for a wire from the greatest length downward.
+func (table pairTable) widthOf() int {
+	for steps := len(table) - 1; steps > 0; steps-- {
+		for place := 0; place+steps < len(table); place++ {
+			if table[place][place+steps] {
+				return steps
+			}
+		}
+	}
+	return 0
+}
+
+// lengthOf returns how long all wires are together of places that stand side by side: they are counted by their lengths first.
+func (table pairTable) lengthOf() int {
+	length := 0
+	for steps := 1; steps < len(table); steps++ {
+		many := 0
+		for place := steps; place < len(table); place++ {
+			if table[place][place-steps] {
+				many++
+			}
+		}
+		length += steps * many
+	}
+	return length
+}
+
+// cutsOf returns how many wires go over each gap of places that stand side by side: all places ahead of the gap are a set, and the wires with just one end in it go over it.
+func (table pairTable) cutsOf() []int {
+	var cuts []int
+	for many := 1; many < len(table); many++ {
+		cuts = append(cuts, unlikeOf(table, membersOf(len(table), power(many)-1)))
+	}
+	return cuts
+}
+
+// cutOf returns how many wires go over one gap at most of places that stand side by side.
+func (table pairTable) cutOf() int {
+	most := 0
+	for _, many := range table.cutsOf() {
+		most = max(most, many)
+	}
+	return most
+}
+
+// narrowOf returns the least width, the least length and the least cut of all orders of a table, and the first order with the least width.
+func narrowOf(table pairTable) ([]int, []int) {
+	var widths, lengths, cuts []int
+	var orders [][]int
+	eachUnlikeRow(len(table), len(table)-1, func(order []int) {
+		stood := table.standing(order)
+		widths = append(widths, stood.widthOf())
+		lengths = append(lengths, stood.lengthOf())
+		cuts = append(cuts, stood.cutOf())
+		orders = append(orders, append([]int{}, order...))
+	})
+	for at := range orders {
+		if widths[at] == least(widths) {
+			return []int{least(widths), least(lengths), least(cuts)}, orders[at]
+		}
+	}
+	return nil, nil
+}
