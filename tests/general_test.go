@@ -95,6 +95,20 @@ func callNarrow(net []int) {
 	impl.NarrowFirst(net)
 }
 
+// callStations calls each function of chapter 10 that takes a net and a row, or an order.
+func callStations(net []int, row []int) {
+	impl.ChannelOk(net, row)
+	impl.GreedyRow(net, row)
+}
+
+// callChannels calls each function of chapter 10 that takes a net.
+func callChannels(net []int) {
+	impl.ChannelFirst(net)
+	impl.FewestSpan(net)
+	impl.OtherNet(net)
+	impl.PathCover(net)
+}
+
 // callSafely tells a panic with the argument that made it.
 func callSafely(t *testing.T, net []int) {
 	t.Helper()
@@ -110,6 +124,7 @@ func callSafely(t *testing.T, net []int) {
 	callHarmony(net)
 	callFriendly(net)
 	callNarrow(net)
+	callChannels(net)
 }
 
 func TestNoFunctionPanics(t *testing.T) {
@@ -177,6 +192,7 @@ func callRowsSafely(t *testing.T, net []int, row []int, numbers []int) {
 	callParted(net, row)
 	impl.HarmonyOk(net, row)
 	callOrders(net, row)
+	callStations(net, row)
 	for at, number := range numbers {
 		told = at
 		callMoves(net, row, number)
@@ -342,6 +358,36 @@ func TestNoFunctionOfOrdersPanics(t *testing.T) {
 			callRowsSafely(t, net, row, nil)
 		}
 	}
+}
+
+func TestNoFunctionOfChannelsPanics(t *testing.T) {
+	most := int(^uint(0) >> 1)
+	numbers := []int{-most - 1, -most, -31, -1, 5, 6, 29, 30, 31, 63, 64, 1 << 40, most - 1, most}
+	check := func(net []int) {
+		rows := append(rowsOf(mostPlaces), nil, ownOrder(len(net)), turnedOf(ownOrder(len(net)), len(net)-1), impl.ChannelFirst(net), make([]int, 70))
+		for at := range net {
+			for _, number := range numbers {
+				changed := ownOrder(len(net))
+				changed[at] = number
+				rows = append(rows, changed)
+			}
+		}
+		for _, row := range rows {
+			callRowsSafely(t, net, row, nil)
+			callRowsSafely(t, net, append([]int{0}, row...), nil)
+		}
+	}
+	eachKindOfNet(t, func(net []int, table pairTable) {
+		check(net)
+		check(net[1:])
+	})
+	for _, net := range badNets() {
+		callSafely(t, net)
+		if len(net) < 1000 {
+			check(net)
+		}
+	}
+	eachNet(t, func(net []int, table pairTable) { callChannels(net) })
 }
 
 // A mark behind the end of an argument shows a write into its spare capacity.
@@ -572,6 +618,31 @@ func TestNoFunctionOfOrdersWritesIntoArguments(t *testing.T) {
 	eachKindOfNet(t, func(net []int, table pairTable) {
 		own := ownOrder(len(net))
 		rows := append(rowsOf(len(net)), own, own[1:], turnedOf(own, len(net)-1), turnedOf(own, len(net)), ownOrder(len(net)+1))
+		check(net, append(rows, someOrders(len(net))...))
+	})
+	for _, net := range badNets() {
+		check(net, [][]int{make([]int, len(net)), ownOrder(len(net)), {1, 0, 2}})
+	}
+}
+
+func TestNoFunctionOfChannelsWritesIntoArguments(t *testing.T) {
+	check := func(net []int, rows [][]int) {
+		netRoom := roomy(net)
+		callChannels(netRoom)
+		for _, row := range rows {
+			rowRoom := roomy(row)
+			callStations(netRoom, rowRoom)
+			if !untouched(rowRoom, row) {
+				t.Errorf("%v was written into: %v", row, rowRoom)
+			}
+		}
+		if !untouched(netRoom, net) {
+			t.Errorf("%v was written into: %v", net, netRoom)
+		}
+	}
+	eachKindOfNet(t, func(net []int, table pairTable) {
+		own := ownOrder(len(net))
+		rows := append(rowsOf(len(net)), impl.ChannelFirst(net), own, own[1:], turnedOf(own, len(net)-1), turnedOf(own, len(net)), ownOrder(len(net)+1))
 		check(net, append(rows, someOrders(len(net))...))
 	})
 	for _, net := range badNets() {
@@ -887,6 +958,39 @@ func TestResultsOfOrdersAreNewMemory(t *testing.T) {
 	check([]int{42, 21, 10, 5, 2, 1}, []int{1, 3, 4, 2, 5, 0})
 }
 
+// channelAnswers returns all lists that chapter 10 returns for a net and an order.
+func channelAnswers(net []int, order []int) [][]int {
+	return [][]int{impl.ChannelFirst(net), impl.GreedyRow(net, order), impl.OtherNet(net)}
+}
+
+func TestResultsOfChannelsAreNewMemory(t *testing.T) {
+	check := func(net []int, order []int) {
+		netRoom := roomy(net)
+		orderRoom := roomy(order)
+		want := channelAnswers(net, order)
+		first := channelAnswers(netRoom, orderRoom)
+		second := channelAnswers(netRoom, orderRoom)
+		for at := range first {
+			if len(first[at]) != len(net) {
+				t.Fatalf("at %v and %v the answers are %v", net, order, first)
+			}
+			spoil(first[at])
+			if !sameLists(first, want, at+1) || !sameLists(second, want, 0) || !sameLists(channelAnswers(netRoom, orderRoom), want, 0) {
+				t.Errorf("at %v and %v the answer %d shares memory with another one", net, order, at)
+			}
+			if !untouched(netRoom, net) || !untouched(orderRoom, order) {
+				t.Errorf("at %v and %v the answer %d shares memory with an argument", net, order, at)
+			}
+		}
+	}
+	eachKindOfNet(t, func(net []int, table pairTable) {
+		check(net, ownOrder(len(net)))
+		check(net, turnedOf(ownOrder(len(net)), len(net)-1))
+	})
+	// The channels that are given may be the same as the order, and the other net the same as the net.
+	check([]int{0}, []int{0})
+}
+
 // What was asked before must not change an answer.
 func TestNoStateBetweenCalls(t *testing.T) {
 	path := []int{2, 5, 10, 4}
@@ -948,6 +1052,13 @@ func TestNoStateBetweenCalls(t *testing.T) {
 		if !impl.OrderOk(path, row) || impl.WidthOf(path, row) != 3 || impl.LengthOf(path, row) != 6 || !sameList(impl.CutsOf(path, row), []int{1, 3, 2}) || !sameList(impl.NarrowRow(path), []int{1, 3, 1}) || !sameList(impl.NarrowFirst(path), []int{0, 1, 2, 3}) {
 			t.Errorf("orders of the turn %d are told otherwise", turn)
 		}
+		callChannels(triangle)
+		callChannels([]int{62, 61, 59, 55, 47, 31})
+		callStations(triangle, []int{2, 0, 1})
+		callStations(path, []int{2, 0, 3, 3})
+		if !impl.ChannelOk(path, []int{1, 3, 0, 2}) || impl.ChannelOk(path, row) || !sameList(impl.ChannelFirst(path), []int{1, 3, 0, 2}) || impl.FewestSpan(path) != 3 || !sameList(impl.GreedyRow(path, []int{2, 0, 3, 1}), []int{1, 3, 0, 2}) || !sameList(impl.OtherNet(path), []int{12, 8, 1, 3}) || impl.PathCover(path) != 1 {
+			t.Errorf("channels of the turn %d are told otherwise", turn)
+		}
 		callNets(nil)
 		callGraceful(nil)
 		callCaterpillars(nil)
@@ -959,6 +1070,8 @@ func TestNoStateBetweenCalls(t *testing.T) {
 		callSets(nil, 0)
 		callNarrow(nil)
 		callOrders(nil, nil)
+		callChannels(nil)
+		callStations(nil, nil)
 		if impl.SidesOf(triangle) != -1 || impl.MostNear(triangle) != 2 || impl.TreeOk(triangle) {
 			t.Errorf("the turn %d answers otherwise", turn)
 		}

@@ -469,3 +469,27 @@ func TestWayOfNarrowRows(t *testing.T) {
 		}
 	}
 }
+
+// The way of chapter 10: channels are tried from 0 on, each one by a call from the place ahead of it, and paths are taken by calls, too; spans are not told by paths, nor by neighbours.
+func TestWayOfChannels(t *testing.T) {
+	tree := sourceOf(t, "l10_channels.go")
+	if !calls(functionOf(t, tree, "ChannelFirst"), "channelsFrom") || !calls(functionOf(t, tree, "channelsFrom").Body, "channelsFrom") {
+		t.Error("channels are not tried place by place")
+	}
+	if !calls(functionOf(t, tree, "PathCover"), "pathsOver") || !calls(functionOf(t, tree, "pathsOver").Body, "pathsOver") {
+		t.Error("paths are not taken one by one")
+	}
+	if most := loopsWithin(tree); most > 1 {
+		t.Errorf("%d loops stand one in the other", most)
+	}
+	for _, name := range []string{"MostNear", "PartMany", "TreeOk", "WiresOf", "SidesOf", "wavesFrom", "ordersOf"} {
+		if calls(tree, name) {
+			t.Errorf("channels are told by %s", name)
+		}
+	}
+	for _, name := range []string{"PathCover", "OtherNet"} {
+		if calls(functionOf(t, tree, "FewestSpan"), name) || calls(functionOf(t, tree, "ChannelFirst"), name) {
+			t.Errorf("spans are told by %s", name)
+		}
+	}
+}

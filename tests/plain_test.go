@@ -916,3 +916,136 @@ func narrowOf(table pairTable) ([]int, []int) {
 	}
 	return nil, nil
 }
+
+// isRow reports whether a row has so many numbers, none of them below 0 or above mostLabel.
+func isRow(places int, row []int) bool {
+	return len(row) == places && least(row) >= 0 && greatest(row) <= mostLabel
+}
+
+// around returns the numbers that the neighbours of a place have.
+func (table pairTable) around(place int, row []int) []int {
+	var numbers []int
+	for other := range table {
+		if table[place][other] {
+			numbers = append(numbers, row[other])
+		}
+	}
+	return numbers
+}
+
+// areChannels reports whether around each place, of all numbers, none is that of the place, the one below or the one above it, and no two are the same.
+func (table pairTable) areChannels(row []int) bool {
+	for place := range table {
+		numbers := table.around(place, row)
+		for near := row[place] - 1; near <= row[place]+1; near++ {
+			if hasNumber(numbers, near) {
+				return false
+			}
+		}
+		if !unlike(numbers) {
+			return false
+		}
+	}
+	return true
+}
+
+// apart returns by how much the channels of two places must differ at least.
+func (table pairTable) apart(place int, other int) int {
+	if table[place][other] {
+		return 2
+	}
+	for middle := range table {
+		if table[place][middle] && table[middle][other] {
+			return 1
+		}
+	}
+	return 0
+}
+
+// spanOf returns the least greatest channel, found by trying all orders of the places: the channels of each row go up in some order, and in each order they go up least if each one goes on just as far as all those ahead of it ask for.
+func spanOf(table pairTable) int {
+	fewest := 2 * mostPlaces
+	channels := make([]int, len(table))
+	eachUnlikeRow(len(table), len(table)-1, func(order []int) {
+		channel := 0
+		for at, place := range order {
+			for _, other := range order[:at] {
+				channel = max(channel, channels[other]+table.apart(place, other))
+			}
+			channels[place] = channel
+		}
+		fewest = min(fewest, channel)
+	})
+	return fewest
+}
+
+// firstChannelsOf returns the first row of channels in 0..span, found by counting up all rows with the last place going ahead; nil if there is none.
+func firstChannelsOf(table pairTable, span int) []int {
+	row := make([]int, len(table))
+	for !table.areChannels(row) {
+		at := len(row) - 1
+		for at >= 0 && row[at] == span {
+			row[at] = 0
+			at--
+		}
+		if at < 0 {
+			return nil
+		}
+		row[at]++
+	}
+	return row
+}
+
+// greedyOf returns a row in which the places of an order get the least channels, one after the other: those that have none yet have such meanwhile that are far from all others.
+func greedyOf(table pairTable, order []int) []int {
+	row := make([]int, len(table))
+	for place := range row {
+		row[place] = 1000 * (place + 1)
+	}
+	for _, place := range order {
+		row[place] = 0
+		for !table.areChannels(row) {
+			row[place]++
+		}
+	}
+	return row
+}
+
+// other returns the table in which just those pairs are neighbours that are not so in this one.
+func (table pairTable) other() pairTable {
+	other := pairsOf(len(table), power(len(table)*(len(table)-1)/2)-1)
+	for _, wire := range table.wires() {
+		other[wire[0]][wire[1]] = false
+		other[wire[1]][wire[0]] = false
+	}
+	return other
+}
+
+// pathsOf returns the least number of paths that have all places, found by trying all sets of wires: each of those that are paths, places without wires among them, has as many paths as parts.
+func pathsOf(table pairTable) int {
+	fewest := len(table)
+	wires := table.wires()
+	for set := 0; set < power(len(wires)); set++ {
+		chosen := pairsOf(len(table), 0)
+		for at, member := range membersOf(len(wires), set) {
+			if member {
+				chosen[wires[at][0]][wires[at][1]] = true
+				chosen[wires[at][1]][wires[at][0]] = true
+			}
+		}
+		if chosen.arePaths() {
+			fewest = min(fewest, chosen.parts())
+		}
+	}
+	return fewest
+}
+
+// arePaths reports whether no place has more than two neighbours, and there is no ring: each wire joins two parts.
+func (table pairTable) arePaths() bool {
+	for place := range table {
+		if table.nearMany(place) > 2 {
+			return false
+		}
+	}
+	return table.parts() == len(table)-len(table.wires())
+}
