@@ -109,6 +109,13 @@ func callChannels(net []int) {
 	impl.PathCover(net)
 }
 
+// callNumbers calls each function of chapter 11 that takes a list of numbers.
+func callNumbers(list []int) {
+	impl.CoprimeNet(list)
+	impl.DivisorNet(list)
+	impl.SumNet(list)
+}
+
 // callSafely tells a panic with the argument that made it.
 func callSafely(t *testing.T, net []int) {
 	t.Helper()
@@ -125,6 +132,7 @@ func callSafely(t *testing.T, net []int) {
 	callFriendly(net)
 	callNarrow(net)
 	callChannels(net)
+	impl.PrimeFirst(net)
 }
 
 func TestNoFunctionPanics(t *testing.T) {
@@ -193,6 +201,7 @@ func callRowsSafely(t *testing.T, net []int, row []int, numbers []int) {
 	impl.HarmonyOk(net, row)
 	callOrders(net, row)
 	callStations(net, row)
+	impl.PrimeOk(net, row)
 	for at, number := range numbers {
 		told = at
 		callMoves(net, row, number)
@@ -388,6 +397,57 @@ func TestNoFunctionOfChannelsPanics(t *testing.T) {
 		}
 	}
 	eachNet(t, func(net []int, table pairTable) { callChannels(net) })
+}
+
+// callNumbersSafely tells a panic with the list that made it.
+func callNumbersSafely(t *testing.T, list []int) {
+	t.Helper()
+	defer func() {
+		if told := recover(); told != nil {
+			t.Errorf("at %v: %v", list, told)
+		}
+	}()
+	callNumbers(list)
+}
+
+func TestNoFunctionOfNumbersPanics(t *testing.T) {
+	most := int(^uint(0) >> 1)
+	odd := []int{-most - 1, -most, -31, -30, -2, -1, 0, 1, 2, 15, 29, 30, 31, 32, 63, 64, 65, 1 << 32, 1 << 40, most - 1, most}
+	for _, list := range badLists() {
+		callNumbersSafely(t, list)
+	}
+	for places := 0; places <= 70; places++ {
+		callNumbersSafely(t, movedOf(ownOrder(places), 1))
+		callNumbersSafely(t, ownOrder(places))
+		for _, first := range odd {
+			for _, last := range odd {
+				// Numbers go up from the first one, past what an int holds too, so that they are unlike.
+				list := make([]int, places)
+				for at := range list {
+					list[at] = first + at
+				}
+				if places > 0 {
+					list[places-1] = last
+				}
+				callNumbersSafely(t, list)
+			}
+		}
+	}
+	eachKindOfNet(t, func(net []int, table pairTable) {
+		callSafely(t, net)
+		for _, row := range [][]int{ownOrder(len(net)), movedOf(ownOrder(len(net)), 1), movedOf(ownOrder(len(net)), 2), turnedOf(ownOrder(len(net)), len(net))} {
+			callRowsSafely(t, net, row, nil)
+			callRowsSafely(t, net, row[1:], nil)
+			callRowsSafely(t, net[1:], row, nil)
+			for at := range row {
+				for _, number := range odd {
+					changed := append([]int{}, row...)
+					changed[at] = number
+					callRowsSafely(t, net, changed, nil)
+				}
+			}
+		}
+	})
 }
 
 // A mark behind the end of an argument shows a write into its spare capacity.
@@ -647,6 +707,43 @@ func TestNoFunctionOfChannelsWritesIntoArguments(t *testing.T) {
 	})
 	for _, net := range badNets() {
 		check(net, [][]int{make([]int, len(net)), ownOrder(len(net)), {1, 0, 2}})
+	}
+}
+
+func TestNoFunctionOfNumbersWritesIntoArguments(t *testing.T) {
+	lists := append(badLists(), someNumbers()...)
+	eachNumbers(t, 3, func(list []int) { lists = append(lists, list) })
+	for _, list := range lists {
+		room := roomy(list)
+		callNumbers(room)
+		if !untouched(room, list) {
+			t.Errorf("%v was written into: %v", list, room)
+		}
+	}
+	check := func(net []int, rows [][]int) {
+		netRoom := roomy(net)
+		impl.PrimeFirst(netRoom)
+		for _, row := range rows {
+			rowRoom := roomy(row)
+			impl.PrimeOk(netRoom, rowRoom)
+			if !untouched(rowRoom, row) {
+				t.Errorf("%v was written into: %v", row, rowRoom)
+			}
+		}
+		if !untouched(netRoom, net) {
+			t.Errorf("%v was written into: %v", net, netRoom)
+		}
+	}
+	eachKindOfNet(t, func(net []int, table pairTable) {
+		own := movedOf(ownOrder(len(net)), 1)
+		rows := append(rowsOf(len(net)), own, own[1:], turnedOf(own, len(net)+1), movedOf(own, 1), movedOf(ownOrder(len(net)+1), 1))
+		if first, ok := impl.PrimeFirst(net); ok {
+			rows = append(rows, first)
+		}
+		check(net, rows)
+	})
+	for _, net := range badNets() {
+		check(net, [][]int{make([]int, len(net)), movedOf(ownOrder(len(net)), 1), {2, 1, 3}})
 	}
 }
 
@@ -991,6 +1088,48 @@ func TestResultsOfChannelsAreNewMemory(t *testing.T) {
 	check([]int{0}, []int{0})
 }
 
+// someNumbers returns lists of numbers of which nets are made, some of which are the same as the nets.
+func someNumbers() [][]int {
+	return [][]int{{1}, {30}, {2, 1}, {1, 2}, {3, 2, 1}, {6, 5, 3}, {1, 2, 4, 9}, {2, 3, 6, 12}, {14, 13, 11, 7}, {30, 29, 27, 23, 15}, {1, 2, 3, 4, 5, 6}, {30, 1, 15, 2, 17, 6}}
+}
+
+// numberAnswers returns all lists that chapter 11 returns for a list of numbers, and for a net.
+func numberAnswers(list []int, net []int) [][]int {
+	row, _ := impl.PrimeFirst(net)
+	return [][]int{impl.CoprimeNet(list), impl.DivisorNet(list), impl.SumNet(list), row}
+}
+
+func TestResultsOfNumbersAreNewMemory(t *testing.T) {
+	check := func(list []int, net []int) {
+		listRoom := roomy(list)
+		netRoom := roomy(net)
+		want := numberAnswers(list, net)
+		first := numberAnswers(listRoom, netRoom)
+		second := numberAnswers(listRoom, netRoom)
+		for at := range first {
+			if len(first[at]) == 0 {
+				t.Fatalf("at %v and %v the answers are %v", list, net, first)
+			}
+			spoil(first[at])
+			if !sameLists(first, want, at+1) || !sameLists(second, want, 0) || !sameLists(numberAnswers(listRoom, netRoom), want, 0) {
+				t.Errorf("at %v and %v the answer %d shares memory with another one", list, net, at)
+			}
+			if !untouched(listRoom, list) || !untouched(netRoom, net) {
+				t.Errorf("at %v and %v the answer %d shares memory with an argument", list, net, at)
+			}
+		}
+	}
+	for _, list := range someNumbers() {
+		eachTree(t, func(net []int, table pairTable) {
+			if len(net) < mostPlaces {
+				check(list, net)
+			}
+		})
+		check(list, impl.ShapeNet(1, mostPlaces))
+		check(list, make([]int, mostPlaces))
+	}
+}
+
 // What was asked before must not change an answer.
 func TestNoStateBetweenCalls(t *testing.T) {
 	path := []int{2, 5, 10, 4}
@@ -1059,6 +1198,18 @@ func TestNoStateBetweenCalls(t *testing.T) {
 		if !impl.ChannelOk(path, []int{1, 3, 0, 2}) || impl.ChannelOk(path, row) || !sameList(impl.ChannelFirst(path), []int{1, 3, 0, 2}) || impl.FewestSpan(path) != 3 || !sameList(impl.GreedyRow(path, []int{2, 0, 3, 1}), []int{1, 3, 0, 2}) || !sameList(impl.OtherNet(path), []int{12, 8, 1, 3}) || impl.PathCover(path) != 1 {
 			t.Errorf("channels of the turn %d are told otherwise", turn)
 		}
+		callNumbers([]int{6, 5, 3})
+		callNumbers([]int{1, 2, 3, 4, 5, 6})
+		impl.PrimeFirst(triangle)
+		impl.PrimeOk(path, row)
+		first, ok := impl.PrimeFirst(path)
+		if !impl.PrimeOk(path, []int{4, 1, 2, 3}) || impl.PrimeOk(path, []int{4, 2, 1, 3}) || !ok || !sameList(first, []int{1, 2, 3, 4}) {
+			t.Errorf("prime rows of the turn %d are told otherwise", turn)
+		}
+		list := []int{1, 2, 3, 6}
+		if !sameList(impl.CoprimeNet(list), []int{14, 5, 3, 1}) || !sameList(impl.DivisorNet(list), []int{14, 9, 9, 7}) || !sameList(impl.SumNet(list), []int{2, 1, 0, 0}) {
+			t.Errorf("nets of numbers of the turn %d are told otherwise", turn)
+		}
 		callNets(nil)
 		callGraceful(nil)
 		callCaterpillars(nil)
@@ -1072,6 +1223,9 @@ func TestNoStateBetweenCalls(t *testing.T) {
 		callOrders(nil, nil)
 		callChannels(nil)
 		callStations(nil, nil)
+		callNumbers(nil)
+		impl.PrimeOk(nil, nil)
+		impl.PrimeFirst(nil)
 		if impl.SidesOf(triangle) != -1 || impl.MostNear(triangle) != 2 || impl.TreeOk(triangle) {
 			t.Errorf("the turn %d answers otherwise", turn)
 		}

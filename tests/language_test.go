@@ -493,3 +493,37 @@ func TestWayOfChannels(t *testing.T) {
 		}
 	}
 }
+
+// The way of chapter 11: common divisors are found by division again and again, one remainder after the other, not looked for number by number; rows are found place by place, each one by a call from the place ahead of it.
+func TestWayOfNumbers(t *testing.T) {
+	tree := sourceOf(t, "l11_numbers.go")
+	if !calls(tree, "commonDivisor") {
+		t.Error("common divisors are not asked for")
+	}
+	divisor := functionOf(t, sourceOf(t, "l7_harmony.go"), "commonDivisor")
+	divided := false
+	ast.Inspect(divisor, func(node ast.Node) bool {
+		if loop, ok := node.(*ast.ForStmt); ok {
+			ast.Inspect(loop.Body, func(node ast.Node) bool {
+				step, ok := node.(*ast.BinaryExpr)
+				divided = divided || ok && step.Op == token.REM
+				return true
+			})
+			if loop.Init != nil || loop.Post != nil {
+				t.Error("divisors are tried number by number")
+			}
+		}
+		return true
+	})
+	if !divided {
+		t.Error("divisors are not found by division again and again")
+	}
+	if !calls(functionOf(t, tree, "PrimeFirst"), "primeFrom") || !calls(functionOf(t, tree, "primeFrom").Body, "primeFrom") {
+		t.Error("rows are not found place by place")
+	}
+	for _, name := range []string{"ordersOf", "rowsFrom", "GracefulRows"} {
+		if calls(tree, name) {
+			t.Errorf("rows are told by %s", name)
+		}
+	}
+}

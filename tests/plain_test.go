@@ -1049,3 +1049,109 @@ func (table pairTable) arePaths() bool {
 	}
 	return table.parts() == len(table)-len(table.wires())
 }
+
+// eachNumbers calls check with every list of 1..most unlike numbers in 1..mostLabel, the lesser ones first.
+func eachNumbers(t *testing.T, most int, check func(list []int)) {
+	t.Helper()
+	var goOn func(list []int)
+	goOn = func(list []int) {
+		if len(list) > 0 {
+			check(list)
+			if t.Failed() {
+				t.Fatalf("at the numbers %v", list)
+			}
+		}
+		if len(list) == most {
+			return
+		}
+		from := 1
+		if len(list) > 0 {
+			from = list[len(list)-1] + 1
+		}
+		for number := from; number <= mostLabel; number++ {
+			goOn(append(list[:len(list):len(list)], number))
+		}
+	}
+	goOn(nil)
+}
+
+// isNumbers reports whether a list has 1..mostPlaces numbers in 1..mostLabel, no two of them the same.
+func isNumbers(list []int) bool {
+	if len(list) == 0 || len(list) > mostPlaces {
+		return false
+	}
+	return least(list) > 0 && greatest(list) <= mostLabel && unlike(list)
+}
+
+// divides reports whether a number that is more than 0 divides another one, which is looked for among its multiples.
+func divides(number int, other int) bool {
+	multiple := number
+	for multiple < other {
+		multiple += number
+	}
+	return multiple == other
+}
+
+// coprimeTable returns the table of numbers in which those are neighbours that have no divisor together but 1.
+func coprimeTable(list []int) pairTable {
+	table := pairsOf(len(list), 0)
+	for place := range list {
+		for other := range list {
+			table[place][other] = place != other && !haveDivisor(list[place], list[other])
+		}
+	}
+	return table
+}
+
+// divisorTable returns the table of numbers in which those are neighbours of which one is a multiple of the other one.
+func divisorTable(list []int) pairTable {
+	table := pairsOf(len(list), 0)
+	for place := range list {
+		for other := range list {
+			if place != other && divides(list[place], list[other]) {
+				table[place][other] = true
+				table[other][place] = true
+			}
+		}
+	}
+	return table
+}
+
+// sumTable returns the table of numbers in which those are neighbours that are together one of them: each of them is taken apart into a number and what is left.
+func sumTable(list []int) pairTable {
+	table := pairsOf(len(list), 0)
+	for _, whole := range list {
+		for place, number := range list {
+			for other, left := range list {
+				if place != other && whole-number == left {
+					table[place][other] = true
+				}
+			}
+		}
+	}
+	return table
+}
+
+// isPrime reports whether a row has each number from 1 on, as many as there are places, no further one, and no neighbours with a divisor together but 1.
+func (table pairTable) isPrime(row []int) bool {
+	if !isOrder(len(table), movedOf(row, -1)) {
+		return false
+	}
+	for _, wire := range table.wires() {
+		if haveDivisor(row[wire[0]], row[wire[1]]) {
+			return false
+		}
+	}
+	return true
+}
+
+// primeRowsOf returns all prime rows of a table in ascending order, found by trying all orders.
+func primeRowsOf(table pairTable) [][]int {
+	var rows [][]int
+	eachUnlikeRow(len(table), len(table)-1, func(order []int) {
+		if row := movedOf(order, 1); table.isPrime(row) {
+			rows = append(rows, row)
+		}
+	})
+	return rows
+}
