@@ -116,6 +116,13 @@ func callNumbers(list []int) {
 	impl.SumNet(list)
 }
 
+// callTables calls each function of chapter 12 that takes a table.
+func callTables(table []int) {
+	impl.TableOk(table)
+	impl.TableNet(table)
+	impl.TableNumber(table)
+}
+
 // callSafely tells a panic with the argument that made it.
 func callSafely(t *testing.T, net []int) {
 	t.Helper()
@@ -133,6 +140,7 @@ func callSafely(t *testing.T, net []int) {
 	callNarrow(net)
 	callChannels(net)
 	impl.PrimeFirst(net)
+	impl.TableOf(net)
 }
 
 func TestNoFunctionPanics(t *testing.T) {
@@ -450,6 +458,76 @@ func TestNoFunctionOfNumbersPanics(t *testing.T) {
 	})
 }
 
+// callTablesSafely tells a panic with the table that made it.
+func callTablesSafely(t *testing.T, table []int) {
+	t.Helper()
+	defer func() {
+		if told := recover(); told != nil {
+			t.Errorf("at %v: %v", table, told)
+		}
+	}()
+	callTables(table)
+}
+
+// callTableNumbersSafely tells a panic with the numbers that made it.
+func callTableNumbersSafely(t *testing.T, choices int, number int) {
+	t.Helper()
+	defer func() {
+		if told := recover(); told != nil {
+			t.Errorf("at %d and %d: %v", choices, number, told)
+		}
+	}()
+	impl.TablesMany(choices)
+	impl.TableAt(choices, number)
+}
+
+func TestNoFunctionOfTablesPanics(t *testing.T) {
+	most := int(^uint(0) >> 1)
+	odd := []int{-most - 1, -most, -64, -6, -5, -1, 0, 1, 2, 4, 5, 6, 63, 64, 65, 119, 120, 1 << 32, 1<<32 + 1, most - 1, most}
+	for _, table := range badTables() {
+		callTablesSafely(t, table)
+	}
+	for choices := 0; choices <= 70; choices++ {
+		callTablesSafely(t, ownOrder(choices))
+		callTablesSafely(t, turnedOf(ownOrder(choices), choices-1))
+		for _, first := range odd {
+			for at := 0; at < choices; at++ {
+				table := make([]int, choices)
+				table[at] = first
+				callTablesSafely(t, table)
+			}
+		}
+	}
+	for _, choices := range odd {
+		for _, number := range odd {
+			callTableNumbersSafely(t, choices, number)
+		}
+	}
+	for choices := -70; choices <= 70; choices++ {
+		for number := -130; number <= 130; number++ {
+			callTableNumbersSafely(t, choices, number)
+		}
+		for _, number := range odd {
+			callTableNumbersSafely(t, choices, number)
+			callTableNumbersSafely(t, number, choices)
+		}
+	}
+	// Nets of more places than there may be, with one wire of each difference, up to more than a set has bits.
+	for places := 1; places <= 70; places++ {
+		star := make([]int, places)
+		for place := 1; place < places; place++ {
+			star[0] |= 1 << place
+			star[place] = 1
+		}
+		callSafely(t, star)
+		callSafely(t, star[1:])
+	}
+	eachNet(t, func(net []int, table pairTable) {
+		impl.TableOf(net)
+		impl.TableOf(net[1:])
+	})
+}
+
 // A mark behind the end of an argument shows a write into its spare capacity.
 const mark = 77
 
@@ -744,6 +822,31 @@ func TestNoFunctionOfNumbersWritesIntoArguments(t *testing.T) {
 	})
 	for _, net := range badNets() {
 		check(net, [][]int{make([]int, len(net)), movedOf(ownOrder(len(net)), 1), {2, 1, 3}})
+	}
+}
+
+func TestNoFunctionOfTablesWritesIntoArguments(t *testing.T) {
+	check := func(table []int) {
+		room := roomy(table)
+		callTables(room)
+		if !untouched(room, table) {
+			t.Errorf("%v was written into: %v", table, room)
+		}
+	}
+	eachChoices(t, func(list []int, ahead int) { check(list) })
+	for _, table := range badTables() {
+		check(table)
+	}
+	checkNet := func(net []int) {
+		room := roomy(net)
+		impl.TableOf(room)
+		if !untouched(room, net) {
+			t.Errorf("%v was written into: %v", net, room)
+		}
+	}
+	eachNet(t, func(net []int, table pairTable) { checkNet(net) })
+	for _, net := range badNets() {
+		checkNet(net)
 	}
 }
 
@@ -1130,6 +1233,36 @@ func TestResultsOfNumbersAreNewMemory(t *testing.T) {
 	}
 }
 
+// tableAnswers returns all lists that chapter 12 returns for a table, for its net, and for its number.
+func tableAnswers(list []int, net []int, number int) [][]int {
+	table, _ := impl.TableOf(net)
+	counted, _ := impl.TableAt(len(list), number)
+	return [][]int{impl.TableNet(list), table, counted}
+}
+
+func TestResultsOfTablesAreNewMemory(t *testing.T) {
+	eachChoices(t, func(list []int, ahead int) {
+		net := choicesTable(list).net()
+		listRoom := roomy(list)
+		netRoom := roomy(net)
+		want := [][]int{net, list, list}
+		first := tableAnswers(listRoom, netRoom, ahead)
+		second := tableAnswers(listRoom, netRoom, ahead)
+		for at := range first {
+			if !sameLists(first, want, at) {
+				t.Fatalf("the answers are %v", first)
+			}
+			spoil(first[at])
+			if !sameLists(first, want, at+1) || !sameLists(second, want, 0) || !sameLists(tableAnswers(listRoom, netRoom, ahead), want, 0) {
+				t.Errorf("the answer %d shares memory with another one", at)
+			}
+			if !untouched(listRoom, list) || !untouched(netRoom, net) {
+				t.Errorf("the answer %d shares memory with an argument", at)
+			}
+		}
+	})
+}
+
 // What was asked before must not change an answer.
 func TestNoStateBetweenCalls(t *testing.T) {
 	path := []int{2, 5, 10, 4}
@@ -1210,6 +1343,19 @@ func TestNoStateBetweenCalls(t *testing.T) {
 		if !sameList(impl.CoprimeNet(list), []int{14, 5, 3, 1}) || !sameList(impl.DivisorNet(list), []int{14, 9, 9, 7}) || !sameList(impl.SumNet(list), []int{2, 1, 0, 0}) {
 			t.Errorf("nets of numbers of the turn %d are told otherwise", turn)
 		}
+		callTables([]int{1, 3, 2, 1, 0})
+		callTables([]int{3, 0, 0})
+		impl.TableOf(impl.ShapeNet(2, 6))
+		impl.TableOf(triangle)
+		impl.TablesMany(5)
+		impl.TableAt(5, 77)
+		table, ok := impl.TableOf([]int{8, 12, 2, 3})
+		if !ok || !sameList(table, []int{1, 1, 0}) || !impl.TableOk(table) || !sameList(impl.TableNet(table), []int{8, 12, 2, 3}) || impl.TableNumber(table) != 3 || impl.TablesMany(3) != 6 {
+			t.Errorf("tables of the turn %d are told otherwise", turn)
+		}
+		if table, ok = impl.TableAt(3, 4); !ok || !sameList(table, []int{2, 0, 0}) {
+			t.Errorf("tables of the turn %d are counted otherwise", turn)
+		}
 		callNets(nil)
 		callGraceful(nil)
 		callCaterpillars(nil)
@@ -1226,6 +1372,10 @@ func TestNoStateBetweenCalls(t *testing.T) {
 		callNumbers(nil)
 		impl.PrimeOk(nil, nil)
 		impl.PrimeFirst(nil)
+		callTables(nil)
+		impl.TableOf(nil)
+		impl.TablesMany(0)
+		impl.TableAt(0, 0)
 		if impl.SidesOf(triangle) != -1 || impl.MostNear(triangle) != 2 || impl.TreeOk(triangle) {
 			t.Errorf("the turn %d answers otherwise", turn)
 		}

@@ -186,10 +186,10 @@ func checkValues(tree *ast.File, functions map[string]bool, tell func(ast.Node, 
 	})
 }
 
-// operators returns which operators a file uses.
-func operators(tree *ast.File) map[token.Token]bool {
+// operators returns which operators a part of the source uses.
+func operators(part ast.Node) map[token.Token]bool {
 	used := map[token.Token]bool{}
-	ast.Inspect(tree, func(node ast.Node) bool {
+	ast.Inspect(part, func(node ast.Node) bool {
 		switch node := node.(type) {
 		case *ast.BinaryExpr:
 			used[node.Op] = true
@@ -524,6 +524,35 @@ func TestWayOfNumbers(t *testing.T) {
 	for _, name := range []string{"ordersOf", "rowsFrom", "GracefulRows"} {
 		if calls(tree, name) {
 			t.Errorf("rows are told by %s", name)
+		}
+	}
+}
+
+// The way of chapter 12: choices are digits of unlike bases: a number is made of them by multiplication, and taken apart by division, in one loop each; no tables are made one after the other, and none are looked for among others.
+func TestWayOfTables(t *testing.T) {
+	tree := sourceOf(t, "l12_tables.go")
+	number, at := functionOf(t, tree, "TableNumber"), functionOf(t, tree, "TableAt")
+	if used := operators(number); !used[token.MUL] && !used[token.MUL_ASSIGN] {
+		t.Error("numbers are not made of digits")
+	}
+	used := operators(at)
+	if !used[token.REM] && !used[token.REM_ASSIGN] || !used[token.QUO] && !used[token.QUO_ASSIGN] {
+		t.Error("numbers are not taken apart into digits")
+	}
+	if loopsWithin(number) != 1 || loopsWithin(at) != 1 || loopsWithin(tree) > 1 {
+		t.Error("digits are not gone through once")
+	}
+	if callsItself(tree) {
+		t.Error("tables are looked for by trying")
+	}
+	for _, name := range []string{"TableNumber", "TableAt"} {
+		if calls(tree, name) {
+			t.Errorf("tables are told by %s", name)
+		}
+	}
+	for _, name := range []string{"TableNet", "rowsFrom", "GracefulRows", "ordersOf"} {
+		if calls(functionOf(t, tree, "TableOf"), name) {
+			t.Errorf("the table of a net is looked for by %s", name)
 		}
 	}
 }

@@ -14,6 +14,9 @@ const mostLabel = 30
 // mostRing is MostRing as the document has it.
 const mostRing = 31
 
+// mostTable is MostTable as the document has it.
+const mostTable = 5
+
 // The tests tell nets by tables of pairs, not by rows of bits, so that a slip with bits in impl is not made here, too.
 
 // pairTable says for each two places whether they are neighbours.
@@ -1154,4 +1157,74 @@ func primeRowsOf(table pairTable) [][]int {
 		}
 	})
 	return rows
+}
+
+// isChoices reports whether a list is a table of differences: each of its 1..mostTable choices is one of the places from which a wire as long as its difference ends at a place, too.
+func isChoices(list []int) bool {
+	if len(list) == 0 || len(list) > mostTable {
+		return false
+	}
+	for at, choice := range list {
+		if !hasNumber(ownOrder(len(list)-at), choice) {
+			return false
+		}
+	}
+	return true
+}
+
+// choicesOf returns all tables of differences of so many choices in ascending order: those of all orders of as many places, one behind the other, which tell for each place how many lesser numbers come behind its own one.
+func choicesOf(many int) [][]int {
+	var lists [][]int
+	eachUnlikeRow(many, many-1, func(order []int) {
+		list := make([]int, many)
+		for place := range order {
+			for behind := place + 1; behind < many; behind++ {
+				if order[behind] < order[place] {
+					list[place]++
+				}
+			}
+		}
+		lists = append(lists, list)
+	})
+	return lists
+}
+
+// eachChoices calls check with every table of differences, and how many of as many choices come ahead of it.
+func eachChoices(t *testing.T, check func(list []int, ahead int)) {
+	t.Helper()
+	for many := 1; many <= mostTable; many++ {
+		for ahead, list := range choicesOf(many) {
+			check(list, ahead)
+			if t.Failed() {
+				t.Fatalf("at the table %v", list)
+			}
+		}
+	}
+}
+
+// choicesTable returns the table of pairs of a table of differences: two places are neighbours if the lesser one is the choice for what they are apart.
+func choicesTable(list []int) pairTable {
+	table := pairsOf(len(list)+1, 0)
+	for lesser := range table {
+		for greater := lesser + 1; greater < len(table); greater++ {
+			near := list[greater-lesser-1] == lesser
+			table[lesser][greater] = near
+			table[greater][lesser] = near
+		}
+	}
+	return table
+}
+
+// choicesByNet returns all tables of differences of so many choices, each with its net as the key.
+func choicesByNet(many int) map[[mostPlaces]int][]int {
+	found := map[[mostPlaces]int][]int{}
+	for _, list := range choicesOf(many) {
+		found[keyOf(choicesTable(list))] = list
+	}
+	return found
+}
+
+// standsGraceful reports whether 2..mostPlaces places have one wire less, and there is one of each length.
+func (table pairTable) standsGraceful() bool {
+	return len(table) > 1 && len(table.wires()) == len(table)-1 && isGraceful(table.wires(), ownOrder(len(table)))
 }
