@@ -1,6 +1,7 @@
 package tests
 
 import (
+	"strings"
 	"testing"
 
 	"loop.example/labelnets/impl"
@@ -123,6 +124,14 @@ func callTables(table []int) {
 	impl.TableNumber(table)
 }
 
+// callTexts calls each function of chapter 13 that takes a text, a line, or bytes.
+func callTexts(text string) {
+	impl.NetRead(text)
+	impl.NetFrom([]byte(text))
+	impl.LineTold(text)
+	impl.LinesTold([]string{text, "", text})
+}
+
 // callSafely tells a panic with the argument that made it.
 func callSafely(t *testing.T, net []int) {
 	t.Helper()
@@ -141,6 +150,8 @@ func callSafely(t *testing.T, net []int) {
 	callChannels(net)
 	impl.PrimeFirst(net)
 	impl.TableOf(net)
+	impl.NetText(net)
+	impl.NetBytes(net)
 }
 
 func TestNoFunctionPanics(t *testing.T) {
@@ -528,6 +539,75 @@ func TestNoFunctionOfTablesPanics(t *testing.T) {
 	})
 }
 
+// callTextsSafely tells a panic with the text that made it.
+func callTextsSafely(t *testing.T, text string) {
+	t.Helper()
+	defer func() {
+		if told := recover(); told != nil {
+			t.Errorf("at %.200q: %v", text, told)
+		}
+	}()
+	callTexts(text)
+}
+
+// eachMixedText calls check with many texts of bytes that are mixed in the same way each time, of each length up to a greatest one.
+func eachMixedText(most int, check func(text string)) {
+	state := uint32(1)
+	for length := 0; length <= most; length++ {
+		for turn := 0; turn < 40; turn++ {
+			text := make([]byte, length)
+			for at := range text {
+				state = state*1664525 + 1013904223
+				text[at] = byte(state >> 24)
+				// Of every four texts all bytes of three are such as texts of nets have.
+				if turn%4 > 0 {
+					text[at] = nearBytes[int(state>>24)%13]
+				}
+			}
+			check(string(text))
+		}
+	}
+}
+
+func TestNoFunctionOfTextsPanics(t *testing.T) {
+	for _, text := range append(badTexts(), badLines()...) {
+		callTextsSafely(t, text)
+	}
+	eachText(2, allBytes(), func(text string) { callTextsSafely(t, text) })
+	eachMixedText(2*mostLine, func(text string) {
+		callTextsSafely(t, text)
+		callTextsSafely(t, "4 "+text)
+		callTextsSafely(t, "6 0-1 0-2 "+text)
+		for _, word := range lineWords() {
+			callTextsSafely(t, word+" "+text)
+			callTextsSafely(t, word+" 6 "+text)
+		}
+	})
+	for _, many := range []int{1000, 1 << 16, 1 << 20} {
+		for _, piece := range []string{" ", "-", "4", "\x00", "\xff", " 0-1", "wires ", "0-0 "} {
+			callTextsSafely(t, strings.Repeat(piece, many))
+		}
+		impl.LinesTold(make([]string, many))
+	}
+	eachKindOfNet(t, func(net []int, table pairTable) {
+		callSafely(t, net)
+		callTextsSafely(t, table.text())
+		callTextsSafely(t, string(table.bytes()))
+		for _, word := range lineWords() {
+			callTextsSafely(t, word+" "+table.text())
+		}
+	})
+	eachNotNet(t, func(list []int) {
+		bytes := []byte{byte(len(list))}
+		for _, set := range list {
+			bytes = append(bytes, byte(set))
+		}
+		callTextsSafely(t, string(summed(bytes)))
+	})
+	impl.LinesTold(nil)
+	impl.NetFrom(nil)
+}
+
 // A mark behind the end of an argument shows a write into its spare capacity.
 const mark = 77
 
@@ -848,6 +928,80 @@ func TestNoFunctionOfTablesWritesIntoArguments(t *testing.T) {
 	for _, net := range badNets() {
 		checkNet(net)
 	}
+}
+
+// roomyBytes returns bytes with marks in their spare capacity.
+func roomyBytes(bytes []byte) []byte {
+	room := append(append([]byte{}, bytes...), mark, mark)
+	return room[:len(bytes)]
+}
+
+// untouchedBytes reports whether bytes that roomyBytes returned are the same, with their marks still.
+func untouchedBytes(room []byte, bytes []byte) bool {
+	behind := room[len(room) : len(room)+2]
+	return string(room) == string(bytes) && behind[0] == mark && behind[1] == mark
+}
+
+// A line behind the end of an argument shows a write into its spare capacity.
+const markLine = "wires 2 0-1"
+
+// roomyLines returns lines with marks in their spare capacity.
+func roomyLines(lines []string) []string {
+	room := append(append([]string{}, lines...), markLine, markLine)
+	return room[:len(lines)]
+}
+
+// untouchedLines reports whether lines that roomyLines returned are the same, with their marks still.
+func untouchedLines(room []string, lines []string) bool {
+	behind := room[len(room) : len(room)+2]
+	for at := range lines {
+		if room[at] != lines[at] {
+			return false
+		}
+	}
+	return len(room) == len(lines) && behind[0] == markLine && behind[1] == markLine
+}
+
+func TestNoFunctionOfTextsWritesIntoArguments(t *testing.T) {
+	checkNet := func(net []int) {
+		room := roomy(net)
+		impl.NetText(room)
+		impl.NetBytes(room)
+		if !untouched(room, net) {
+			t.Errorf("%v was written into: %v", net, room)
+		}
+	}
+	checkBytes := func(bytes []byte) {
+		room := roomyBytes(bytes)
+		impl.NetFrom(room)
+		if !untouchedBytes(room, bytes) {
+			t.Errorf("%v was written into: %v", bytes, room)
+		}
+	}
+	checkAll := func(lines []string) {
+		room := roomyLines(lines)
+		impl.LinesTold(room)
+		if !untouchedLines(room, lines) {
+			t.Errorf("%q was written into: %q", lines, room)
+		}
+	}
+	eachNet(t, func(net []int, table pairTable) {
+		checkNet(net)
+		checkBytes(table.bytes())
+	})
+	eachNotNet(t, checkNet)
+	eachKindOfNet(t, func(net []int, table pairTable) {
+		// A byte less, one more, and a wrong sum.
+		bytes := table.bytes()
+		checkBytes(bytes[:len(bytes)-1])
+		checkBytes(append(bytes, 0))
+		checkBytes(append(bytes[:len(bytes)-1], 251))
+		checkAll([]string{"wires " + table.text(), "", "sides " + table.text(), "sides " + table.text() + " "})
+	})
+	eachMixedText(20, func(text string) { checkBytes([]byte(text)) })
+	checkAll(nil)
+	checkAll(badLines())
+	checkAll(badTexts())
 }
 
 // spoil writes into all of a list, and into its spare capacity.
@@ -1263,6 +1417,72 @@ func TestResultsOfTablesAreNewMemory(t *testing.T) {
 	})
 }
 
+// spoilBytes writes into all of some bytes, and into their spare capacity.
+func spoilBytes(bytes []byte) {
+	bytes = bytes[:cap(bytes)]
+	for at := range bytes {
+		bytes[at] = mark
+	}
+}
+
+// spoilLines writes into all of some lines, and into their spare capacity.
+func spoilLines(lines []string) {
+	lines = lines[:cap(lines)]
+	for at := range lines {
+		lines[at] = markLine
+	}
+}
+
+func TestResultsOfTextsAreNewMemory(t *testing.T) {
+	eachNet(t, func(net []int, table pairTable) {
+		want := table.bytes()
+		text := table.text()
+		netRoom := roomy(net)
+		bytesRoom := roomyBytes(want)
+		keptBytes := impl.NetBytes(netRoom)
+		keptRead, _ := impl.NetRead(text)
+		keptFrom, _ := impl.NetFrom(bytesRoom)
+		read, _ := impl.NetRead(text)
+		from, _ := impl.NetFrom(bytesRoom)
+		if !sameList(read, net) || !sameList(from, net) {
+			t.Fatalf("the answers are %v and %v", read, from)
+		}
+		spoilBytes(impl.NetBytes(netRoom))
+		spoil(read)
+		if !sameList(from, net) {
+			t.Error("a net that is read from a text shares memory with one from bytes")
+		}
+		spoil(from)
+		again, _ := impl.NetRead(text)
+		anew, _ := impl.NetFrom(bytesRoom)
+		if string(keptBytes) != string(want) || string(impl.NetBytes(netRoom)) != string(want) || !sameList(keptRead, net) || !sameList(keptFrom, net) || !sameList(again, net) || !sameList(anew, net) {
+			t.Error("two answers share memory")
+		}
+		if !untouched(netRoom, net) || !untouchedBytes(bytesRoom, want) {
+			t.Errorf("an answer shares memory with an argument: %v or %v", netRoom, bytesRoom)
+		}
+	})
+	// Lines, of which one is the same as its answer.
+	lines := []string{"what", "wires 2 0-1", "what", "sides 2"}
+	want := []string{"what", "1", "what", "3"}
+	room := roomyLines(lines)
+	kept, _ := impl.LinesTold(room)
+	told, many := impl.LinesTold(room)
+	if len(told) != len(want) || many != 2 {
+		t.Fatalf("LinesTold is %q, %d", told, many)
+	}
+	spoilLines(told)
+	checkLines(t, room, want, 2)
+	for at := range want {
+		if kept[at] != want[at] {
+			t.Errorf("the answers of two calls share memory: %q", kept)
+		}
+	}
+	if !untouchedLines(room, lines) {
+		t.Errorf("answers share memory with the lines: %q", room)
+	}
+}
+
 // What was asked before must not change an answer.
 func TestNoStateBetweenCalls(t *testing.T) {
 	path := []int{2, 5, 10, 4}
@@ -1356,6 +1576,18 @@ func TestNoStateBetweenCalls(t *testing.T) {
 		if table, ok = impl.TableAt(3, 4); !ok || !sameList(table, []int{2, 0, 0}) {
 			t.Errorf("tables of the turn %d are counted otherwise", turn)
 		}
+		callTexts("paths 6 0-1 0-2 1-2")
+		callTexts("6 0-1 0-2 1-2")
+		callTexts("\x03\x06\x05\x03\x11")
+		impl.NetText(triangle)
+		impl.NetBytes(triangle)
+		bytes := []byte{4, 2, 5, 10, 4, 25}
+		fromText, told := impl.NetRead("4 0-1 1-2 2-3")
+		fromBytes, ok := impl.NetFrom(bytes)
+		if impl.NetText(path) != "4 0-1 1-2 2-3" || string(impl.NetBytes(path)) != string(bytes) || !told || !sameList(fromText, path) || !ok || !sameList(fromBytes, path) {
+			t.Errorf("texts of the turn %d are told otherwise", turn)
+		}
+		checkLines(t, []string{"sides 4 0-1 1-2 2-3", "what", "span 4 0-1 1-2 2-3"}, []string{"5", "what", "3"}, 1)
 		callNets(nil)
 		callGraceful(nil)
 		callCaterpillars(nil)
@@ -1376,6 +1608,9 @@ func TestNoStateBetweenCalls(t *testing.T) {
 		impl.TableOf(nil)
 		impl.TablesMany(0)
 		impl.TableAt(0, 0)
+		callTexts("")
+		impl.NetText(nil)
+		impl.NetBytes(nil)
 		if impl.SidesOf(triangle) != -1 || impl.MostNear(triangle) != 2 || impl.TreeOk(triangle) {
 			t.Errorf("the turn %d answers otherwise", turn)
 		}

@@ -556,3 +556,26 @@ func TestWayOfTables(t *testing.T) {
 		}
 	}
 }
+
+// The way of chapter 13: texts are cut at blanks, piece by piece, and not looked for among those of all nets; bytes have a sum at their end, a remainder of all others together.
+func TestWayOfTexts(t *testing.T) {
+	tree := sourceOf(t, "l13_lines.go")
+	for _, name := range []string{"NetRead", "LineTold"} {
+		if !calls(functionOf(t, tree, name), "cutAt") {
+			t.Errorf("%s does not cut at blanks", name)
+		}
+	}
+	if !calls(functionOf(t, tree, "NetText"), "WireList") {
+		t.Error("texts do not go through the wires")
+	}
+	bytes := functionOf(t, tree, "NetBytes")
+	if !calls(bytes, "sumOf") || !operators(bytes)[token.REM] {
+		t.Error("bytes have no sum at their end")
+	}
+	if most := loopsWithin(tree); most > 1 {
+		t.Errorf("%d loops stand one in the other", most)
+	}
+	if !calls(functionOf(t, tree, "LinesTold"), "LineTold") {
+		t.Error("lines are not answered one by one")
+	}
+}

@@ -2,6 +2,8 @@ package tests
 
 import (
 	"sort"
+	"strconv"
+	"strings"
 	"testing"
 )
 
@@ -16,6 +18,9 @@ const mostRing = 31
 
 // mostTable is MostTable as the document has it.
 const mostTable = 5
+
+// mostLine is MaxLine as the document has it.
+const mostLine = 100
 
 // The tests tell nets by tables of pairs, not by rows of bits, so that a slip with bits in impl is not made here, too.
 
@@ -1227,4 +1232,157 @@ func choicesByNet(many int) map[[mostPlaces]int][]int {
 // standsGraceful reports whether 2..mostPlaces places have one wire less, and there is one of each length.
 func (table pairTable) standsGraceful() bool {
 	return len(table) > 1 && len(table.wires()) == len(table)-1 && isGraceful(table.wires(), ownOrder(len(table)))
+}
+
+// text returns the text of a table: pieces with blanks between them.
+func (table pairTable) text() string {
+	pieces := []string{strconv.Itoa(len(table))}
+	for _, wire := range table.wires() {
+		pieces = append(pieces, strconv.Itoa(wire[0])+"-"+strconv.Itoa(wire[1]))
+	}
+	return strings.Join(pieces, " ")
+}
+
+// bytes returns the bytes of a table, with a sum that goes back to 0 whenever it comes to 251, step by step.
+func (table pairTable) bytes() []byte {
+	bytes := []byte{byte(len(table))}
+	for _, set := range table.net() {
+		bytes = append(bytes, byte(set))
+	}
+	return summed(bytes)
+}
+
+// summed returns bytes with their sum behind them.
+func summed(bytes []byte) []byte {
+	sum := 0
+	for _, one := range bytes {
+		for step := 0; step < int(one); step++ {
+			sum++
+			if sum == 251 {
+				sum = 0
+			}
+		}
+	}
+	return append(append([]byte{}, bytes...), byte(sum))
+}
+
+// netsByText returns all nets, each with its text as the key.
+func netsByText(t *testing.T) map[string][]int {
+	t.Helper()
+	nets := map[string][]int{}
+	eachNet(t, func(net []int, table pairTable) { nets[table.text()] = net })
+	return nets
+}
+
+// netsByBytes returns all nets, each with its bytes as the key.
+func netsByBytes(t *testing.T) map[string][]int {
+	t.Helper()
+	nets := map[string][]int{}
+	eachNet(t, func(net []int, table pairTable) { nets[string(table.bytes())] = net })
+	return nets
+}
+
+// lineWords returns the words with which a line asks for a number of a net.
+func lineWords() []string {
+	return []string{"wires", "near", "sides", "legs", "friendly", "unlike", "width", "length", "cut", "span", "paths"}
+}
+
+// asked returns the number of a table that a word asks for; -1 if there is none.
+func (table pairTable) asked(word string) int {
+	switch word {
+	case "wires":
+		return len(table.wires())
+	case "near":
+		most := 0
+		for place := range table {
+			most = max(most, table.nearMany(place))
+		}
+		return most
+	case "sides":
+		return table.sides()
+	case "legs":
+		if backbone := backboneOf(table); table.isTree() && len(backbone) > 0 {
+			return len(table) - len(backbone)
+		}
+	case "friendly":
+		if sets := friendlySetsOf(table); len(sets) > 0 {
+			return sets[0]
+		}
+	case "unlike":
+		return mostUnlikeOf(table)
+	case "width", "length", "cut":
+		least, _ := narrowOf(table)
+		return map[string]int{"width": least[0], "length": least[1], "cut": least[2]}[word]
+	case "span":
+		return spanOf(table)
+	case "paths":
+		return pathsOf(table)
+	}
+	return -1
+}
+
+// answerTo returns the answer to a line, if all nets are known by their texts.
+func answerTo(line string, nets map[string][]int) string {
+	word, text, blank := strings.Cut(line, " ")
+	net, known := nets[text]
+	if !blank || !known || len(line) > mostLine {
+		return "what"
+	}
+	for _, one := range lineWords() {
+		if one == word {
+			return toldAs(tableOfNet(net).asked(word))
+		}
+	}
+	return "what"
+}
+
+// toldAs returns how a number is told in an answer.
+func toldAs(number int) string {
+	if number == -1 {
+		return "none"
+	}
+	return strconv.Itoa(number)
+}
+
+// eachEdit calls check with every text that one gets from a text by changing a byte for one of some others, putting one of these in, leaving one out, telling one twice, or changing two side by side for each other.
+func eachEdit(text string, bytes string, check func(edited string)) {
+	for at := 0; at <= len(text); at++ {
+		for _, one := range []byte(bytes) {
+			check(text[:at] + string([]byte{one}) + text[at:])
+			if at < len(text) {
+				check(text[:at] + string([]byte{one}) + text[at+1:])
+			}
+		}
+		if at < len(text) {
+			check(text[:at] + text[at+1:])
+			check(text[:at+1] + text[at:])
+		}
+		if at+1 < len(text) {
+			check(text[:at] + text[at+1:at+2] + text[at:at+1] + text[at+2:])
+		}
+	}
+}
+
+// allBytes returns a text that has each byte once.
+func allBytes() string {
+	var bytes []byte
+	for one := 0; one < 256; one++ {
+		bytes = append(bytes, byte(one))
+	}
+	return string(bytes)
+}
+
+// eachText calls check with every text of at most so many bytes, all of them some bytes.
+func eachText(most int, bytes string, check func(text string)) {
+	var goOn func(text []byte)
+	goOn = func(text []byte) {
+		check(string(text))
+		if len(text) == most {
+			return
+		}
+		for _, one := range []byte(bytes) {
+			goOn(append(text, one))
+		}
+	}
+	goOn(nil)
 }
